@@ -1,0 +1,136 @@
+package shape_test
+
+import (
+	"slices"
+	"testing"
+
+	"trestle/api"
+	"trestle/shape"
+)
+
+// intLists is all lists of numbers of a circuit, each with its spare room.
+func intLists(c api.Circuit) [][]int {
+	out := [][]int{c.Inputs, c.Outputs, c.Bads, c.Constraints, c.Fairness}
+	out = append(out, c.Justice[:cap(c.Justice)]...)
+	for i, l := range out {
+		out[i] = l[:cap(l)]
+	}
+	return out
+}
+
+// spoil writes over all that belongs to a circuit's lists, spare room too.
+func spoil(c api.Circuit) {
+	for _, l := range intLists(c) {
+		fill(l, 99)
+	}
+	fill(c.Justice, []int{99})
+	fill(c.Latches, api.Latch{Lit: 99})
+	fill(c.Ands, api.And{Out: 99})
+	fill(c.Symbols, api.Symbol{Kind: 'z'})
+	fill(c.Comments, "spoilt")
+}
+
+func fill[T any](l []T, by T) {
+	l = l[:cap(l)]
+	for i := range l {
+		l[i] = by
+	}
+}
+
+// whole is a circuit's members with all that stands in the spare room of its lists.
+func whole(c api.Circuit) api.Circuit {
+	return clone(api.Circuit{
+		Max: c.Max, Inputs: c.Inputs[:cap(c.Inputs)], Latches: c.Latches[:cap(c.Latches)], Outputs: c.Outputs[:cap(c.Outputs)], Bads: c.Bads[:cap(c.Bads)],
+		Constraints: c.Constraints[:cap(c.Constraints)], Justice: c.Justice[:cap(c.Justice)], Fairness: c.Fairness[:cap(c.Fairness)], Ands: c.Ands[:cap(c.Ands)],
+		Symbols: c.Symbols[:cap(c.Symbols)], Comments: c.Comments[:cap(c.Comments)],
+	})
+}
+
+// guarded is a clone with something in the spare room of its lists.
+func guarded(c api.Circuit) api.Circuit {
+	g := clone(c)
+	spoil(g)
+	g.Inputs, g.Outputs, g.Bads = append(g.Inputs[:0], c.Inputs...), append(g.Outputs[:0], c.Outputs...), append(g.Bads[:0], c.Bads...)
+	g.Constraints, g.Fairness = append(g.Constraints[:0], c.Constraints...), append(g.Fairness[:0], c.Fairness...)
+	g.Latches, g.Ands = append(g.Latches[:0], c.Latches...), append(g.Ands[:0], c.Ands...)
+	g.Symbols, g.Comments = append(g.Symbols[:0], c.Symbols...), append(g.Comments[:0], c.Comments...)
+	g.Justice = g.Justice[:0]
+	for _, j := range c.Justice {
+		one := append(slices.Clone(j), 99, 99)
+		g.Justice = append(g.Justice, one[:len(j)])
+	}
+	return g
+}
+
+// calls is the calls of the package, each as one that answers a circuit and a list.
+func calls() map[string]func(c api.Circuit) (api.Circuit, []int) {
+	return map[string]func(c api.Circuit) (api.Circuit, []int){
+		"Check": func(c api.Circuit) (api.Circuit, []int) {
+			at, e := shape.Check(c)
+			return api.Circuit{}, []int{at, int(e)}
+		},
+		"Order":    func(c api.Circuit) (api.Circuit, []int) { l, _ := shape.Order(c); return api.Circuit{}, l },
+		"Renumber": func(c api.Circuit) (api.Circuit, []int) { n, m, _ := shape.Renumber(c); return n, m },
+		"IsBinary": func(c api.Circuit) (api.Circuit, []int) { shape.IsBinary(c); return api.Circuit{}, nil },
+		"Copy":     func(c api.Circuit) (api.Circuit, []int) { return shape.Copy(c), nil },
+		"Same":     func(c api.Circuit) (api.Circuit, []int) { shape.Same(c, c); return api.Circuit{}, nil },
+	}
+}
+
+// R4, R7: a circuit that is handed in is not changed, spare room too; an answer shares no memory with it, nor with another answer, and is the same the next time.
+func TestMemory(t *testing.T) {
+	list := []api.Circuit{right(), {}, {Max: 3, Inputs: []int{2, 4, 6}}}
+	for _, f := range faults() {
+		c := clone(right())
+		f.do(&c)
+		list = append(list, c)
+	}
+	for _, x := range list {
+		for name, ask := range calls() {
+			c := guarded(x)
+			was := whole(c)
+			first, l := ask(c)
+			kept, keptList := clone(first), slices.Clone(l)
+			second, m := ask(c)
+			spoil(second)
+			fill(m, 99)
+			sameCircuit(t, name+": what was handed in", whole(c), was)
+			sameCircuit(t, name+": two answers", first, kept)
+			third, n := ask(c)
+			sameCircuit(t, name+": the third answer", third, kept)
+			spoil(c)
+			sameCircuit(t, name+": the answer and what was handed in", first, kept)
+			if !slices.Equal(l, keptList) || !slices.Equal(n, keptList) {
+				t.Fatalf("%s: %v, then %v", name, keptList, l)
+			}
+		}
+	}
+}
+
+// R4: no two lists of one answer share memory, also where those that were handed in do.
+func TestListsOfOneAnswer(t *testing.T) {
+	one := []int{2, 4, 2, 4}
+	c := api.Circuit{Max: 2, Inputs: one[:2], Outputs: one, Bads: one[2:], Constraints: one[1:2], Justice: [][]int{one, one[:1], one}, Fairness: one}
+	for name, ask := range calls() {
+		answer, m := ask(c)
+		if name == "Renumber" && !slices.Equal(answer.Outputs, one) {
+			t.Errorf("%s: %+v", name, answer)
+		}
+		lists := append(intLists(answer), m[:cap(m)])
+		for i, l := range lists {
+			fill(l, 100+i)
+		}
+		for i, l := range lists {
+			if slices.ContainsFunc(l, func(x int) bool { return x != 100+i }) {
+				t.Errorf("%s: the list %d is shared: %v", name, i, l)
+			}
+		}
+		if !slices.Equal(one, []int{2, 4, 2, 4}) {
+			t.Fatalf("%s: changed what was handed in: %v", name, one)
+		}
+	}
+	// Lists with one another's new literals: moved once each.
+	swapped := []int{4, 2}
+	n, _ := renumbered(t, api.Circuit{Max: 2, Inputs: swapped, Outputs: swapped, Justice: [][]int{swapped, swapped}})
+	sameCircuit(t, "swapped", n, api.Circuit{Max: 2, Inputs: []int{2, 4}, Outputs: []int{2, 4}, Justice: [][]int{{2, 4}, {2, 4}}})
+}
