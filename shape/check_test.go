@@ -8,6 +8,7 @@ import (
 	"testing"
 
 	"trestle/api"
+	"trestle/samples"
 	"trestle/shape"
 )
 
@@ -350,7 +351,7 @@ func TestCheckByChance(t *testing.T) {
 	r := rand.New(rand.NewSource(31))
 	seen := map[api.Errno]int{}
 	for range 40000 {
-		c := someCircuit(r)
+		c := samples.Circuit(r.Intn)
 		for range r.Intn(4) {
 			all := numbersOf(&c)
 			to := r.Intn(2*max(c.Max, 0)+6) - 2

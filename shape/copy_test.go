@@ -7,6 +7,7 @@ import (
 	"testing"
 
 	"trestle/api"
+	"trestle/samples"
 	"trestle/shape"
 )
 
@@ -23,7 +24,7 @@ func TestCopy(t *testing.T) {
 	}
 	r := rand.New(rand.NewSource(36))
 	for range 200 {
-		list = append(list, someCircuit(r))
+		list = append(list, samples.Circuit(r.Intn))
 	}
 	for _, c := range list {
 		x := shape.Copy(c)

@@ -2,7 +2,6 @@ package shape_test
 
 import (
 	"math"
-	"math/rand"
 	"slices"
 	"strings"
 	"testing"
@@ -122,50 +121,6 @@ func chain(n, end int) api.Circuit {
 			next = end
 		}
 		c.Ands = append(c.Ands, api.And{Out: 2*i + 4, Left: next, Right: next ^ 1})
-	}
-	return c
-}
-
-// someCircuit is a right circuit by chance: of a few inputs, latches and gates, in any order, with any variables.
-func someCircuit(r *rand.Rand) api.Circuit {
-	inputs, latches, gates := r.Intn(4), r.Intn(4), r.Intn(12)
-	c := api.Circuit{Max: inputs + latches + gates + r.Intn(4)}
-	vars := r.Perm(c.Max)[:inputs+latches+gates]
-	lit := func(known int) int {
-		k := r.Intn(known + 1)
-		if k == known {
-			return r.Intn(2)
-		}
-		return 2*(vars[k]+1) + r.Intn(2)
-	}
-	list := func() []int {
-		out := make([]int, r.Intn(4))
-		for i := range out {
-			out[i] = lit(len(vars))
-		}
-		return out
-	}
-	for k, v := range vars {
-		out := 2 * (v + 1)
-		switch {
-		case k < inputs:
-			c.Inputs = append(c.Inputs, out)
-		case k < inputs+latches:
-			c.Latches = append(c.Latches, api.Latch{Lit: out, Next: lit(len(vars)), Reset: []int{0, 1, out}[r.Intn(3)]})
-		default:
-			c.Ands = append(c.Ands, api.And{Out: out, Left: lit(k), Right: lit(k)})
-		}
-	}
-	r.Shuffle(len(c.Ands), func(i, j int) { c.Ands[i], c.Ands[j] = c.Ands[j], c.Ands[i] })
-	c.Outputs, c.Bads, c.Constraints, c.Fairness = list(), list(), list(), list()
-	for range r.Intn(4) {
-		c.Justice = append(c.Justice, list())
-	}
-	for i := range c.Inputs {
-		c.Symbols = append(c.Symbols, api.Symbol{Kind: 'i', At: i, Name: strings.Repeat("x", r.Intn(3)+1)})
-	}
-	for range r.Intn(3) {
-		c.Comments = append(c.Comments, strings.Repeat("y", r.Intn(3)))
 	}
 	return c
 }

@@ -5,37 +5,9 @@ import (
 	"testing"
 
 	"trestle/api"
+	"trestle/samples"
 	"trestle/shape"
 )
-
-// intLists is all lists of numbers of a circuit, each with its spare room.
-func intLists(c api.Circuit) [][]int {
-	out := [][]int{c.Inputs, c.Outputs, c.Bads, c.Constraints, c.Fairness}
-	out = append(out, c.Justice[:cap(c.Justice)]...)
-	for i, l := range out {
-		out[i] = l[:cap(l)]
-	}
-	return out
-}
-
-// spoil writes over all that belongs to a circuit's lists, spare room too.
-func spoil(c api.Circuit) {
-	for _, l := range intLists(c) {
-		fill(l, 99)
-	}
-	fill(c.Justice, []int{99})
-	fill(c.Latches, api.Latch{Lit: 99})
-	fill(c.Ands, api.And{Out: 99})
-	fill(c.Symbols, api.Symbol{Kind: 'z'})
-	fill(c.Comments, "spoilt")
-}
-
-func fill[T any](l []T, by T) {
-	l = l[:cap(l)]
-	for i := range l {
-		l[i] = by
-	}
-}
 
 // whole is a circuit's members with all that stands in the spare room of its lists.
 func whole(c api.Circuit) api.Circuit {
@@ -49,7 +21,7 @@ func whole(c api.Circuit) api.Circuit {
 // guarded is a clone with something in the spare room of its lists.
 func guarded(c api.Circuit) api.Circuit {
 	g := clone(c)
-	spoil(g)
+	samples.Spoil(g)
 	g.Inputs, g.Outputs, g.Bads = append(g.Inputs[:0], c.Inputs...), append(g.Outputs[:0], c.Outputs...), append(g.Bads[:0], c.Bads...)
 	g.Constraints, g.Fairness = append(g.Constraints[:0], c.Constraints...), append(g.Fairness[:0], c.Fairness...)
 	g.Latches, g.Ands = append(g.Latches[:0], c.Latches...), append(g.Ands[:0], c.Ands...)
@@ -92,13 +64,13 @@ func TestMemory(t *testing.T) {
 			first, l := ask(c)
 			kept, keptList := clone(first), slices.Clone(l)
 			second, m := ask(c)
-			spoil(second)
-			fill(m, 99)
+			samples.Spoil(second)
+			samples.Fill(m, 99)
 			sameCircuit(t, name+": what was handed in", whole(c), was)
 			sameCircuit(t, name+": two answers", first, kept)
 			third, n := ask(c)
 			sameCircuit(t, name+": the third answer", third, kept)
-			spoil(c)
+			samples.Spoil(c)
 			sameCircuit(t, name+": the answer and what was handed in", first, kept)
 			if !slices.Equal(l, keptList) || !slices.Equal(n, keptList) {
 				t.Fatalf("%s: %v, then %v", name, keptList, l)
@@ -116,9 +88,9 @@ func TestListsOfOneAnswer(t *testing.T) {
 		if name == "Renumber" && !slices.Equal(answer.Outputs, one) {
 			t.Errorf("%s: %+v", name, answer)
 		}
-		lists := append(intLists(answer), m[:cap(m)])
+		lists := append(samples.Lists(answer), m[:cap(m)])
 		for i, l := range lists {
-			fill(l, 100+i)
+			samples.Fill(l, 100+i)
 		}
 		for i, l := range lists {
 			if slices.ContainsFunc(l, func(x int) bool { return x != 100+i }) {

@@ -6,6 +6,7 @@ import (
 	"testing"
 
 	"trestle/api"
+	"trestle/samples"
 	"trestle/shape"
 )
 
@@ -110,7 +111,7 @@ func TestOrderByExample(t *testing.T) {
 func TestOrderByChance(t *testing.T) {
 	r := rand.New(rand.NewSource(32))
 	for range 5000 {
-		c := someCircuit(r)
+		c := samples.Circuit(r.Intn)
 		l, e := shape.Order(c)
 		if e != api.OK || !slices.Equal(l, orderOf(c)) {
 			t.Fatalf("%+v: %v, %v, want %v", c, l, e, orderOf(c))

@@ -6,6 +6,7 @@ import (
 	"testing"
 
 	"trestle/api"
+	"trestle/samples"
 	"trestle/shape"
 )
 
@@ -80,7 +81,7 @@ func TestRenumberOfManyGates(t *testing.T) {
 func TestRenumberByChance(t *testing.T) {
 	r := rand.New(rand.NewSource(33))
 	for range 5000 {
-		c := someCircuit(r)
+		c := samples.Circuit(r.Intn)
 		n, m := renumbered(t, c)
 		want, wantMap := renumberOf(c)
 		sameCircuit(t, "renumbered", n, want)
@@ -118,7 +119,7 @@ func value(c api.Circuit, given map[int]int, l int) int {
 func TestRenumberedValues(t *testing.T) {
 	r := rand.New(rand.NewSource(35))
 	for range 300 {
-		c := someCircuit(r)
+		c := samples.Circuit(r.Intn)
 		n, m := renumbered(t, c)
 		was, is := map[int]int{}, map[int]int{}
 		for i, l := range c.Inputs {
@@ -177,7 +178,7 @@ func TestIsBinaryByChance(t *testing.T) {
 	r := rand.New(rand.NewSource(34))
 	seen := map[bool]int{}
 	for range 40000 {
-		c, _ := renumbered(t, someCircuit(r))
+		c, _ := renumbered(t, samples.Circuit(r.Intn))
 		if all := numbersOf(&c); r.Intn(3) > 0 {
 			*all[r.Intn(len(all))] = r.Intn(2*c.Max + 3)
 		} else if n := len(c.Ands); n > 1 {
