@@ -6,6 +6,7 @@ import (
 	"testing"
 
 	"trestle/api"
+	"trestle/samples"
 )
 
 var (
@@ -30,7 +31,7 @@ func TestHeadOfEachLength(t *testing.T) {
 	all := []int{60, 11, 12, 13, 14, 15, 16, 17, 18, 19, 20}
 	for _, word := range []string{"aag", "aig"} {
 		for n := range all {
-			line := word + " " + words(all[:n]...) + "\n"
+			line := word + " " + samples.Numbers(all[:n]...) + "\n"
 			if n < 5 || n > 9 {
 				heads(t, line, "", nil, 0, noHeader)
 				continue
@@ -73,7 +74,7 @@ func TestHeadOfNumbers(t *testing.T) {
 				line := "aag " + strings.Join(told, " ") + "\n"
 				word, counts, end, f := headOf(line)
 				if f != want {
-					t.Fatalf("%s: the words say %v, want %v", short(line), f, want)
+					t.Fatalf("%s: the words say %v, want %v", samples.Short(line), f, want)
 				}
 				heads(t, line, word, counts, end, f)
 			}
@@ -88,13 +89,13 @@ func TestHeadOfLimits(t *testing.T) {
 		counts := make([]int, 9)
 		counts[0] = api.MaxVar
 		counts[i] = most
-		line := "aag " + words(counts...) + "\n"
+		line := "aag " + samples.Numbers(counts...) + "\n"
 		heads(t, line, "aag", counts, len(line), api.Fault{})
 		for _, above := range []int{most + 1, most + 2, 2 * most, 1<<31 - 1} {
 			counts[i] = above
-			heads(t, "aag "+words(counts...)+"\n", "", nil, 0, noCount)
-			heads(t, "aig "+words(counts...)+"\n", "", nil, 0, noCount)
-			refuses(t, "aig "+words(counts...)+"\n", 0, api.ErrCount)
+			heads(t, "aag "+samples.Numbers(counts...)+"\n", "", nil, 0, noCount)
+			heads(t, "aig "+samples.Numbers(counts...)+"\n", "", nil, 0, noCount)
+			refuses(t, "aig "+samples.Numbers(counts...)+"\n", 0, api.ErrCount)
 		}
 	}
 }
@@ -104,7 +105,7 @@ func TestHeadOfSums(t *testing.T) {
 	for most := range 7 {
 		for x := range 5 * 5 * 5 {
 			counts := []int{most, x % 5, x / 5 % 5, 9, x / 25, 9, 9, 9, 9}
-			line := "aig " + words(counts...) + "\n"
+			line := "aig " + samples.Numbers(counts...) + "\n"
 			if x%5+x/5%5+x/25 > most {
 				heads(t, line, "", nil, 0, noCount)
 			} else {
@@ -159,9 +160,9 @@ func TestHeadByChance(t *testing.T) {
 	seen := map[api.Errno]int{}
 	for range 40000 {
 		s := []string{"aag", "aig", "aag", "aig", "aog"}[r.Intn(5)]
-		s += " " + words(r.Intn(12))
+		s += " " + samples.Numbers(r.Intn(12))
 		for range 3 + r.Intn(8) {
-			part := words(r.Intn(4))
+			part := samples.Numbers(r.Intn(4))
 			if r.Intn(12) == 0 {
 				part = odd[r.Intn(len(odd))]
 			}

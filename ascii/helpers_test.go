@@ -1,24 +1,14 @@
 package ascii_test
 
 import (
-	"math/rand"
 	"slices"
-	"strconv"
-	"strings"
 	"testing"
 
 	"trestle/api"
 	"trestle/ascii"
+	"trestle/samples"
 	"trestle/shape"
 )
-
-// lines is a text of lines, each with its end.
-func lines(l ...string) string {
-	if len(l) == 0 {
-		return ""
-	}
-	return strings.Join(l, "\n") + "\n"
-}
 
 // allBytes is the text of all bytes.
 func allBytes() string {
@@ -27,12 +17,6 @@ func allBytes() string {
 		b[i] = byte(i)
 	}
 	return string(b)
-}
-
-// someByte is one of a text's bytes.
-func someByte(s string, r *rand.Rand) string {
-	i := r.Intn(len(s))
-	return s[i : i+1]
 }
 
 // bodyLine is a line between header and end, and how many numbers may stand in it.
@@ -72,7 +56,7 @@ func fullText(body []bodyLine, end []string) string {
 	for _, l := range body {
 		all = append(all, l.text)
 	}
-	return lines(append(all, end...)...)
+	return samples.Lines(append(all, end...)...)
 }
 
 // full is the circuit of that text.
@@ -100,19 +84,11 @@ func placeOf(body []bodyLine, i int) int {
 	return len(fullText(body[:i], nil))
 }
 
-// short is a text as it can be told, if it is too long.
-func short(s string) string {
-	if len(s) > 300 {
-		return strconv.Quote(s[:100]) + " .. " + strconv.Quote(s[len(s)-20:])
-	}
-	return strconv.Quote(s)
-}
-
 // reads holds Read against the circuit that is wanted.
 func reads(t *testing.T, s string, want api.Circuit) {
 	t.Helper()
 	if c, f := ascii.Read(s); f != (api.Fault{}) || !shape.Same(c, want) {
-		t.Fatalf("%s:\n%+v, %v, want\n%+v", short(s), c, f, want)
+		t.Fatalf("%s:\n%+v, %v, want\n%+v", samples.Short(s), c, f, want)
 	}
 }
 
@@ -121,7 +97,7 @@ func refuses(t *testing.T, s string, at int, code api.Errno) {
 	t.Helper()
 	c, f := ascii.Read(s)
 	if want := (api.Fault{At: at, Code: code}); f != want || !shape.Same(c, api.Circuit{}) {
-		t.Fatalf("%s: %+v, %v, want %v", short(s), c, f, want)
+		t.Fatalf("%s: %+v, %v, want %v", samples.Short(s), c, f, want)
 	}
 }
 
@@ -130,7 +106,7 @@ func sameAsWords(t *testing.T, s string) api.Fault {
 	t.Helper()
 	want, fault := readOf(s)
 	if c, f := ascii.Read(s); f != fault || !shape.Same(c, want) {
-		t.Fatalf("%s:\n%+v, %v, want\n%+v, %v", short(s), c, f, want, fault)
+		t.Fatalf("%s:\n%+v, %v, want\n%+v, %v", samples.Short(s), c, f, want, fault)
 	}
 	return fault
 }
@@ -139,7 +115,7 @@ func sameAsWords(t *testing.T, s string) api.Fault {
 func heads(t *testing.T, s, word string, counts []int, end int, want api.Fault) {
 	t.Helper()
 	if w, n, e, f := ascii.Head(s); w != word || !slices.Equal(n, counts) || e != end || f != want {
-		t.Fatalf("%s: %q, %v, %d, %v, want %q, %v, %d, %v", short(s), w, n, e, f, word, counts, end, want)
+		t.Fatalf("%s: %q, %v, %d, %v, want %q, %v, %d, %v", samples.Short(s), w, n, e, f, word, counts, end, want)
 	}
 }
 
@@ -147,57 +123,6 @@ func heads(t *testing.T, s, word string, counts []int, end int, want api.Fault) 
 func tails(t *testing.T, s string, at int, symbols []api.Symbol, comments []string, want api.Fault) {
 	t.Helper()
 	if l, c, f := ascii.Tail(s, at); !slices.Equal(l, symbols) || !slices.Equal(c, comments) || f != want {
-		t.Fatalf("%s at %d: %v, %q, %v, want %v, %q, %v", short(s), at, l, c, f, symbols, comments, want)
+		t.Fatalf("%s at %d: %v, %q, %v, want %v, %q, %v", samples.Short(s), at, l, c, f, symbols, comments, want)
 	}
-}
-
-// words is numbers with a blank between.
-func words(n ...int) string {
-	var all []string
-	for _, x := range n {
-		all = append(all, strconv.Itoa(x))
-	}
-	return strings.Join(all, " ")
-}
-
-// textOf is a text of which a circuit is read: whether a Reset of 0, and counts of 0 at the header's end, are told or left out, pick says.
-func textOf(c api.Circuit, pick func(n int) int) string {
-	counts := []int{c.Max, len(c.Inputs), len(c.Latches), len(c.Outputs), len(c.Ands), len(c.Bads), len(c.Constraints), len(c.Justice), len(c.Fairness)}
-	for len(counts) > 5 && counts[len(counts)-1] == 0 && pick(2) == 0 {
-		counts = counts[:len(counts)-1]
-	}
-	all := []string{"aag " + words(counts...)}
-	each := func(list []int) {
-		for _, l := range list {
-			all = append(all, words(l))
-		}
-	}
-	each(c.Inputs)
-	for _, l := range c.Latches {
-		told := []int{l.Lit, l.Next, l.Reset}
-		if l.Reset == 0 && pick(2) == 0 {
-			told = told[:2]
-		}
-		all = append(all, words(told...))
-	}
-	each(c.Outputs)
-	each(c.Bads)
-	each(c.Constraints)
-	for _, j := range c.Justice {
-		all = append(all, words(len(j)))
-	}
-	for _, j := range c.Justice {
-		each(j)
-	}
-	each(c.Fairness)
-	for _, g := range c.Ands {
-		all = append(all, words(g.Out, g.Left, g.Right))
-	}
-	for _, s := range c.Symbols {
-		all = append(all, string([]byte{s.Kind})+strconv.Itoa(s.At)+" "+s.Name)
-	}
-	if len(c.Comments) > 0 || pick(2) == 0 {
-		all = append(append(all, "c"), c.Comments...)
-	}
-	return lines(all...)
 }

@@ -74,27 +74,10 @@ func TestReadOfCountsOfWords(t *testing.T) {
 	refuses(t, "aag 1 1 0 0 0\n"+strings.Repeat(" ", 200000)+"\n", 14, api.ErrLine)
 }
 
-// wrongForms is what may not stand in place of a line of numbers.
-func wrongForms(s string) []string {
-	first, rest, _ := strings.Cut(s, " ")
-	if rest != "" {
-		rest = " " + rest
-	}
-	out := []string{
-		"", " ", "x", "\x00", "c", "i0 x", " " + s, s + " ", "\t" + s, s + "\t", s + "\r", "\r" + s, s + "x", "x" + s, s + "\x00", "0" + s, "00" + s, "+" + s, "-" + s, "１" + rest, "0x" + s, s + ".", s + "_0",
-		"2147483648" + rest, "4294967296" + rest, "18446744073709551616" + rest, "18446744073709551618" + rest, strings.Repeat("9", 500) + rest, first + "0000000000" + rest + "e",
-		"-1" + rest, "-0" + rest, "007" + rest,
-	}
-	if rest != "" {
-		out = append(out, strings.Replace(s, " ", "  ", 1), strings.Replace(s, " ", "\t", 1), strings.Replace(s, " ", "\n", 1), strings.Replace(s, " ", " +", 1), strings.Replace(s, " ", " 0", 1)+"0", first+" x", first+" "+first+" 2147483648")
-	}
-	return out
-}
-
 // 4.3, R6: each line in forms in which it may not stand; its place is told.
 func TestReadOfWrongLines(t *testing.T) {
 	for i, l := range fullBody() {
-		for _, wrong := range wrongForms(l.text) {
+		for _, wrong := range samples.WrongLines(l.text) {
 			body := fullBody()
 			body[i].text = wrong
 			s := fullText(body, fullEnd())
@@ -154,7 +137,7 @@ func TestReadOfCutTexts(t *testing.T) {
 			refuses(t, cut, lineAt, api.ErrLine)
 		default:
 			if _, f := ascii.Read(cut); f != (api.Fault{}) {
-				t.Fatalf("%s: %v", short(cut), f)
+				t.Fatalf("%s: %v", samples.Short(cut), f)
 			}
 		}
 	}
@@ -172,7 +155,7 @@ func TestReadOfOtherCounts(t *testing.T) {
 		for _, by := range []int{-1, 1} {
 			other := slices.Clone(counts)
 			other[i] += by
-			s := strings.Replace(fullText(fullBody(), fullEnd()), fullHeader, "aag "+words(other...), 1)
+			s := strings.Replace(fullText(fullBody(), fullEnd()), fullHeader, "aag "+samples.Numbers(other...), 1)
 			if f := sameAsWords(t, s); i > 0 && f.Code == api.OK {
 				t.Errorf("%v is read", other)
 			}
@@ -232,9 +215,9 @@ func TestReadOfLongLists(t *testing.T) {
 	text := []string{"aag 16384 0 16384 0 0"}
 	for i := range n {
 		latches.Latches = append(latches.Latches, api.Latch{Lit: 2*i + 2, Next: 0})
-		text = append(text, words(2*i+2, 0))
+		text = append(text, samples.Numbers(2*i+2, 0))
 	}
-	reads(t, lines(text...), latches)
+	reads(t, samples.Lines(text...), latches)
 }
 
 // 4.3, R2: texts of as many bytes as may be, and of one more.
@@ -253,9 +236,9 @@ func TestReadOfLongTexts(t *testing.T) {
 func TestReadOfJustice(t *testing.T) {
 	const n = api.MaxItems
 	text := func(sizes []int, literals int) string {
-		s := "aag 0 0 0 0 0 0 0 " + words(len(sizes)) + "\n"
+		s := "aag 0 0 0 0 0 0 0 " + samples.Numbers(len(sizes)) + "\n"
 		for _, size := range sizes {
-			s += words(size) + "\n"
+			s += samples.Numbers(size) + "\n"
 		}
 		return s + strings.Repeat("1\n", literals)
 	}
@@ -310,14 +293,14 @@ func TestReadByChance(t *testing.T) {
 	seen := map[api.Errno]int{}
 	for range 6000 {
 		c := samples.Circuit(r.Intn)
-		s := textOf(c, r.Intn)
+		s := samples.Text(c, r.Intn)
 		reads(t, s, c)
 		for range 4 {
 			for range 1 + r.Intn(2) {
-				s = changed(s, r)
+				s = samples.Changed(s, "\n\n  0123456789aci-x\r\xff", r.Intn)
 			}
 			seen[sameAsWords(t, s).Code]++
-			s = textOf(c, r.Intn)
+			s = samples.Text(c, r.Intn)
 		}
 	}
 	for _, e := range []api.Errno{api.OK, api.ErrHeader, api.ErrCount, api.ErrLine, api.ErrLit, api.ErrTwice, api.ErrReset, api.ErrLoose, api.ErrCycle, api.ErrSymbol} {
@@ -327,28 +310,6 @@ func TestReadByChance(t *testing.T) {
 	}
 }
 
-// changed is a text with a byte put in, put over another one or taken out, with a line twice or not at all, or with two lines in each other's place.
-func changed(s string, r *rand.Rand) string {
-	if r.Intn(3) > 0 {
-		at, put := r.Intn(len(s)+1), someByte("\n\n  0123456789aci-x\r\xff", r)
-		if r.Intn(3) == 0 {
-			put = ""
-		}
-		return s[:at] + put + s[min(len(s), at+r.Intn(2)):]
-	}
-	all := strings.SplitAfter(s, "\n")
-	i, k := r.Intn(len(all)), r.Intn(len(all))
-	switch r.Intn(3) {
-	case 0:
-		all[i], all[k] = all[k], all[i]
-	case 1:
-		all[i] = ""
-	default:
-		all[i] += all[k]
-	}
-	return strings.Join(all, "")
-}
-
 // 4.4: what is read is right; without its end, or with another one, it has the same latches, gates and properties.
 func TestEndsOfTexts(t *testing.T) {
 	r := rand.New(rand.NewSource(44))
@@ -356,8 +317,8 @@ func TestEndsOfTexts(t *testing.T) {
 		c := samples.Circuit(r.Intn)
 		bare := shape.Copy(c)
 		bare.Symbols, bare.Comments = nil, nil
-		s := textOf(bare, func(n int) int { return n - 1 })
-		if d, f := ascii.Read(textOf(c, r.Intn)); f.Code != api.OK {
+		s := samples.Text(bare, func(n int) int { return n - 1 })
+		if d, f := ascii.Read(samples.Text(c, r.Intn)); f.Code != api.OK {
 			t.Fatal(f)
 		} else if at, e := shape.Check(d); e != api.OK {
 			t.Fatalf("%+v: %d, %v", d, at, e)
@@ -377,12 +338,12 @@ func TestByteBehindTexts(t *testing.T) {
 	r := rand.New(rand.NewSource(45))
 	all := []string{"aag 0 0 0 0 0\n", "aag 0 0 0 0 0\nc\n", "aag 0 0 0 0 0\nc\n\n", "aag 1 1 0 0 0\n2\ni0 x\n", "aag 1 1 0 0 0\n2\n", fullText(fullBody(), fullEnd()), fullText(fullBody(), fullEnd()[:8])}
 	for range 40 {
-		all = append(all, textOf(samples.Circuit(r.Intn), r.Intn))
+		all = append(all, samples.Text(samples.Circuit(r.Intn), r.Intn))
 	}
 	for _, s := range all {
 		c, f := ascii.Read(s)
 		if f != (api.Fault{}) {
-			t.Fatalf("%s: %v", short(s), f)
+			t.Fatalf("%s: %v", samples.Short(s), f)
 		}
 		for b := range 256 {
 			if b == 10 && strings.Contains(s, "\nc\n") {

@@ -7,6 +7,7 @@ import (
 	"testing"
 
 	"trestle/api"
+	"trestle/samples"
 )
 
 // wrongLine is the fault of a line at a place.
@@ -120,10 +121,10 @@ func TestTailOfFirstWrongLine(t *testing.T) {
 	for _, wrong := range []string{"", "x", "i0", "i0 ", "i00 x", "k0 x", "c ", "c x", " i0 x", "i2147483648 x", "-", "7"} {
 		for at := range len(right) + 1 {
 			all := append(append(append([]string{}, right[:at]...), wrong), right[at:]...)
-			place := len(lines(all[:at]...))
+			place := len(samples.Lines(all[:at]...))
 			for _, behind := range []string{"", "x\n", "x", "c\n", "c\nx", "i0\n", "\n"} {
-				tails(t, lines(all...)+behind, 0, nil, nil, wrongLine(place))
-				tails(t, "\nzz"+lines(all...)+behind, 3, nil, nil, wrongLine(place+3))
+				tails(t, samples.Lines(all...)+behind, 0, nil, nil, wrongLine(place))
+				tails(t, "\nzz"+samples.Lines(all...)+behind, 3, nil, nil, wrongLine(place+3))
 			}
 		}
 	}
@@ -190,7 +191,7 @@ func TestTailByChance(t *testing.T) {
 		}
 		if n := len(s); n > 0 && r.Intn(2) == 0 {
 			at := r.Intn(n)
-			s = s[:at] + someByte("ci01 \n\x00x", r) + s[min(n, at+r.Intn(2)):]
+			s = s[:at] + samples.SomeByte("ci01 \n\x00x", r.Intn) + s[min(n, at+r.Intn(2)):]
 		}
 		at := 0
 		if r.Intn(4) == 0 {

@@ -1,0 +1,48 @@
+package samples
+
+import "strings"
+
+// Changed is a text with a byte of some put in, put over another one or taken out, with a line twice or not at all, or with two lines in each other's place.
+func Changed(s, some string, pick func(n int) int) string {
+	if pick(3) > 0 {
+		at, put := pick(len(s)+1), SomeByte(some, pick)
+		if pick(3) == 0 {
+			put = ""
+		}
+		return s[:at] + put + s[min(len(s), at+pick(2)):]
+	}
+	all := strings.SplitAfter(s, "\n")
+	i, k := pick(len(all)), pick(len(all))
+	switch pick(3) {
+	case 0:
+		all[i], all[k] = all[k], all[i]
+	case 1:
+		all[i] = ""
+	default:
+		all[i] += all[k]
+	}
+	return strings.Join(all, "")
+}
+
+// SomeByte is one of a text's bytes.
+func SomeByte(s string, pick func(n int) int) string {
+	i := pick(len(s))
+	return s[i : i+1]
+}
+
+// WrongLines is what may not stand in place of a line of numbers.
+func WrongLines(s string) []string {
+	first, rest, _ := strings.Cut(s, " ")
+	if rest != "" {
+		rest = " " + rest
+	}
+	out := []string{
+		"", " ", "x", "\x00", "c", "i0 x", " " + s, s + " ", "\t" + s, s + "\t", s + "\r", "\r" + s, s + "x", "x" + s, s + "\x00", "0" + s, "00" + s, "+" + s, "-" + s, "１" + rest, "0x" + s, s + ".", s + "_0",
+		"2147483648" + rest, "4294967296" + rest, "18446744073709551616" + rest, "18446744073709551618" + rest, strings.Repeat("9", 500) + rest, first + "0000000000" + rest + "e",
+		"-1" + rest, "-0" + rest, "007" + rest,
+	}
+	if rest != "" {
+		out = append(out, strings.Replace(s, " ", "  ", 1), strings.Replace(s, " ", "\t", 1), strings.Replace(s, " ", "\n", 1), strings.Replace(s, " ", " +", 1), strings.Replace(s, " ", " 0", 1)+"0", first+" x", first+" "+first+" 2147483648")
+	}
+	return out
+}
