@@ -317,7 +317,7 @@ func TestEndsOfTexts(t *testing.T) {
 		c := samples.Circuit(r.Intn)
 		bare := shape.Copy(c)
 		bare.Symbols, bare.Comments = nil, nil
-		s := samples.Text(bare, func(n int) int { return n - 1 })
+		s := samples.Text(bare, samples.Least)
 		if d, f := ascii.Read(samples.Text(c, r.Intn)); f.Code != api.OK {
 			t.Fatal(f)
 		} else if at, e := shape.Check(d); e != api.OK {

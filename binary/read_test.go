@@ -311,7 +311,7 @@ func TestReadOfLongLists(t *testing.T) {
 		gates.Ands = append(gates.Ands, api.And{Out: 2*i + 2, Left: 2 * i, Right: i})
 	}
 	for _, c := range []api.Circuit{latches, gates} {
-		reads(t, samples.Bytes(c, func(int) int { return 0 }), c)
+		reads(t, samples.Bytes(c, samples.Least), c)
 	}
 }
 

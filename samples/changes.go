@@ -1,6 +1,11 @@
 package samples
 
-import "strings"
+import (
+	"slices"
+	"strings"
+
+	"trestle/api"
+)
 
 // Changed is a text with a byte of some put in, put over another one or taken out, with a line twice or not at all, or with two lines in each other's place.
 func Changed(s, some string, pick func(n int) int) string {
@@ -43,6 +48,26 @@ func WrongLines(s string) []string {
 	}
 	if rest != "" {
 		out = append(out, strings.Replace(s, " ", "  ", 1), strings.Replace(s, " ", "\t", 1), strings.Replace(s, " ", "\n", 1), strings.Replace(s, " ", " +", 1), strings.Replace(s, " ", " 0", 1)+"0", first+" x", first+" "+first+" 2147483648")
+	}
+	return out
+}
+
+// NumbersOf is all places of a circuit where a number stands.
+func NumbersOf(c *api.Circuit) []*int {
+	out := []*int{&c.Max}
+	for _, list := range append(slices.Clone(c.Justice), c.Inputs, c.Outputs, c.Bads, c.Constraints, c.Fairness) {
+		for i := range list {
+			out = append(out, &list[i])
+		}
+	}
+	for i := range c.Latches {
+		out = append(out, &c.Latches[i].Lit, &c.Latches[i].Next, &c.Latches[i].Reset)
+	}
+	for i := range c.Ands {
+		out = append(out, &c.Ands[i].Out, &c.Ands[i].Left, &c.Ands[i].Right)
+	}
+	for i := range c.Symbols {
+		out = append(out, &c.Symbols[i].At)
 	}
 	return out
 }

@@ -1,4 +1,4 @@
-// Package samples is for the tests of the layers' packages: it makes circuits, and writes over the memory of answers.
+// Package samples is for the tests of the layers' packages: it makes circuits, right and wrong ones, and texts of them, and it guards the memory of arguments and writes over that of answers.
 package samples
 
 import "trestle/api"

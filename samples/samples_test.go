@@ -88,3 +88,61 @@ func TestChanges(t *testing.T) {
 		}
 	}
 }
+
+// A picker of 0 leaves all out of a text that may be left out.
+func TestLeast(t *testing.T) {
+	r := rand.New(rand.NewSource(4))
+	for range 500 {
+		c := samples.Circuit(r.Intn)
+		if s, l := samples.Text(c, r.Intn), samples.Text(c, samples.Least); len(l) > len(s) {
+			t.Fatalf("%s is longer than %s", samples.Short(l), samples.Short(s))
+		}
+	}
+	c := api.Circuit{Max: 1, Latches: []api.Latch{{Lit: 2}}}
+	if s := samples.Text(c, samples.Least); s != "aag 1 0 1 0 0\n2 0\n" {
+		t.Errorf("%q", s)
+	}
+	if s := samples.Bytes(c, samples.Least); s != "aig 1 0 1 0 0\n0\n" {
+		t.Errorf("%q", s)
+	}
+}
+
+// The circuit with something of all is right, and by each thing that is done to it wrong.
+func TestFaults(t *testing.T) {
+	if at, e := shape.Check(samples.Right()); e != api.OK {
+		t.Errorf("%d, %v", at, e)
+	}
+	for _, f := range samples.Faults() {
+		if at, e := shape.Check(f.Circuit()); at != f.At || e != f.Want || e == api.OK {
+			t.Errorf("%s: %d, %v, want %d, %v", f.Name, at, e, f.At, f.Want)
+		}
+	}
+}
+
+// A guarded circuit has the same members, and whatever is written into its numbers, or behind one of its lists, is to be seen in the whole of it.
+func TestGuarded(t *testing.T) {
+	c := samples.Guarded(samples.Right())
+	if !shape.Same(c, samples.Right()) || len(samples.NumbersOf(&c)) != 44 {
+		t.Errorf("%+v, %d", c, len(samples.NumbersOf(&c)))
+	}
+	seen := func(what any, write func(c *api.Circuit)) {
+		t.Helper()
+		c := samples.Guarded(samples.Right())
+		was := samples.Whole(c)
+		write(&c)
+		if shape.Same(samples.Whole(c), was) {
+			t.Errorf("%v is not seen", what)
+		}
+	}
+	for i := range samples.NumbersOf(&c) {
+		seen(i, func(c *api.Circuit) { *samples.NumbersOf(c)[i] = -7 })
+	}
+	for i := range samples.Lists(c) {
+		seen(i, func(c *api.Circuit) { l := samples.Lists(*c)[i]; l[len(l)-1] = -7 })
+	}
+	seen("a latch", func(c *api.Circuit) { _ = append(c.Latches, api.Latch{}) })
+	seen("a gate", func(c *api.Circuit) { _ = append(c.Ands, api.And{}) })
+	seen("a justice", func(c *api.Circuit) { _ = append(c.Justice, []int{5}) })
+	seen("a symbol", func(c *api.Circuit) { _ = append(c.Symbols, api.Symbol{}) })
+	seen("a comment", func(c *api.Circuit) { _ = append(c.Comments, "x") })
+}

@@ -1,6 +1,10 @@
 package samples
 
-import "trestle/api"
+import (
+	"slices"
+
+	"trestle/api"
+)
 
 // Fill writes over all that belongs to a list, spare room too.
 func Fill[T any](l []T, by T) {
@@ -30,4 +34,33 @@ func Spoil(c api.Circuit) {
 	Fill(c.Ands, api.And{Out: 99})
 	Fill(c.Symbols, api.Symbol{Kind: 'z'})
 	Fill(c.Comments, "spoilt")
+}
+
+// Whole is a circuit's members with all that stands in the spare room of its lists.
+func Whole(c api.Circuit) api.Circuit {
+	justice := slices.Clone(c.Justice[:cap(c.Justice)])
+	for i, j := range justice {
+		justice[i] = j[:cap(j)]
+	}
+	return Clone(api.Circuit{
+		Max: c.Max, Inputs: c.Inputs[:cap(c.Inputs)], Latches: c.Latches[:cap(c.Latches)], Outputs: c.Outputs[:cap(c.Outputs)], Bads: c.Bads[:cap(c.Bads)],
+		Constraints: c.Constraints[:cap(c.Constraints)], Justice: justice, Fairness: c.Fairness[:cap(c.Fairness)], Ands: c.Ands[:cap(c.Ands)],
+		Symbols: c.Symbols[:cap(c.Symbols)], Comments: c.Comments[:cap(c.Comments)],
+	})
+}
+
+// Guarded is a clone with something in the spare room of its lists.
+func Guarded(c api.Circuit) api.Circuit {
+	g := Clone(c)
+	Spoil(g)
+	g.Inputs, g.Outputs, g.Bads = append(g.Inputs[:0], c.Inputs...), append(g.Outputs[:0], c.Outputs...), append(g.Bads[:0], c.Bads...)
+	g.Constraints, g.Fairness = append(g.Constraints[:0], c.Constraints...), append(g.Fairness[:0], c.Fairness...)
+	g.Latches, g.Ands = append(g.Latches[:0], c.Latches...), append(g.Ands[:0], c.Ands...)
+	g.Symbols, g.Comments = append(g.Symbols[:0], c.Symbols...), append(g.Comments[:0], c.Comments...)
+	g.Justice = g.Justice[:0]
+	for _, j := range c.Justice {
+		one := append(slices.Clone(j), 99, 99)
+		g.Justice = append(g.Justice, one[:len(j)])
+	}
+	return g
 }

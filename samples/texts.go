@@ -32,6 +32,9 @@ func Short(s string) string {
 	return strconv.Quote(s)
 }
 
+// Least picks 0: by it a text leaves out all that it may.
+func Least(int) int { return 0 }
+
 // Text is a text of which a circuit is read: whether a Reset of 0, counts of 0 at the header's end, and the line ahead of no comments are told or left out, pick says.
 func Text(c api.Circuit, pick func(n int) int) string {
 	all := []string{"aag " + counts(c, pick)}
@@ -115,7 +118,7 @@ func end(c api.Circuit, pick func(n int) int) []string {
 	for _, s := range c.Symbols {
 		all = append(all, string([]byte{s.Kind})+strconv.Itoa(s.At)+" "+s.Name)
 	}
-	if len(c.Comments) > 0 || pick(2) == 0 {
+	if len(c.Comments) > 0 || pick(2) == 1 {
 		all = append(append(all, "c"), c.Comments...)
 	}
 	return all

@@ -47,7 +47,7 @@ func TestCheckOfRightCircuits(t *testing.T) {
 		Ands: []api.And{}, Symbols: []api.Symbol{}, Comments: []string{},
 	}
 	for i, c := range []api.Circuit{
-		{}, empty, {Max: 1}, {Max: api.MaxVar}, right(), clone(right()),
+		{}, empty, {Max: 1}, {Max: api.MaxVar}, samples.Right(), samples.Clone(samples.Right()),
 		{Outputs: []int{0, 1}, Bads: []int{1}, Constraints: []int{0}, Justice: [][]int{{}, nil, {0, 1}}, Fairness: []int{0}},
 		{Max: api.MaxVar, Inputs: []int{2 * api.MaxVar}, Outputs: []int{2*api.MaxVar + 1, 2 * api.MaxVar}},
 		{Max: 1, Latches: []api.Latch{{Lit: 2, Next: 3, Reset: 2}}}, {Max: 1, Ands: []api.And{{Out: 2, Left: 1, Right: 0}}},
@@ -58,14 +58,14 @@ func TestCheckOfRightCircuits(t *testing.T) {
 
 // 3.1, R1: each thing that is wrong by itself, and each two of them: the one that the chapter names first is answered.
 func TestCheckOfFaults(t *testing.T) {
-	all := faults()
+	all := samples.Faults()
 	for i, first := range all {
 		for _, second := range all[i:] {
-			for _, turn := range [][]fault{{first, second}, {second, first}} {
-				c := clone(right())
-				turn[0].do(&c)
-				turn[1].do(&c)
-				checks(t, first.name+", "+second.name, c, first.at, first.want)
+			for _, turn := range [][]samples.Fault{{first, second}, {second, first}} {
+				c := samples.Clone(samples.Right())
+				turn[0].Do(&c)
+				turn[1].Do(&c)
+				checks(t, first.Name+", "+second.Name, c, first.At, first.Want)
 			}
 		}
 	}
@@ -75,7 +75,7 @@ func TestCheckOfFaults(t *testing.T) {
 func TestCheckOfMax(t *testing.T) {
 	for _, n := range []int{-1, api.MaxVar + 1, math.MinInt, math.MaxInt} {
 		checks(t, n, api.Circuit{Max: n}, 0, api.ErrRange)
-		c := clone(right())
+		c := samples.Clone(samples.Right())
 		c.Max, c.Inputs, c.Comments = n, make([]int, api.MaxItems+1), []string{"\n"}
 		checks(t, n, c, 0, api.ErrRange)
 	}
@@ -271,7 +271,7 @@ func TestCheckOfUsedLiteralsInOrder(t *testing.T) {
 func TestCheckOfSymbols(t *testing.T) {
 	counts := map[byte]int{'i': 2, 'l': 3, 'o': 3, 'b': 2, 'c': 2, 'j': 3, 'f': 2}
 	for kind := range 256 {
-		c := right()
+		c := samples.Right()
 		n := counts[byte(kind)]
 		for _, at := range []int{0, n - 1, n, n + 1, -1, math.MaxInt, math.MinInt} {
 			want := api.OK
@@ -316,7 +316,7 @@ func TestCheckOfNames(t *testing.T) {
 
 // 3.1: a symbol of the Kind and At of one ahead; the same At of another Kind, and the same Name, may be.
 func TestCheckOfSymbolsTwice(t *testing.T) {
-	c := right()
+	c := samples.Right()
 	c.Symbols = nil
 	for _, kind := range []byte("ilobcjf") {
 		for at := range 2 {
@@ -325,7 +325,7 @@ func TestCheckOfSymbolsTwice(t *testing.T) {
 	}
 	checks(t, "each once", c, 0, api.OK)
 	for i, s := range c.Symbols {
-		again := clone(c)
+		again := samples.Clone(c)
 		again.Symbols = append(again.Symbols, api.Symbol{Kind: s.Kind, At: s.At, Name: "other"})
 		checks(t, i, again, len(c.Symbols), api.ErrSymbol)
 	}
@@ -353,7 +353,7 @@ func TestCheckByChance(t *testing.T) {
 	for range 40000 {
 		c := samples.Circuit(r.Intn)
 		for range r.Intn(4) {
-			all := numbersOf(&c)
+			all := samples.NumbersOf(&c)
 			to := r.Intn(2*max(c.Max, 0)+6) - 2
 			if from := r.Intn(len(all)); from > 0 || to < 30 {
 				*all[from] = to
@@ -374,14 +374,13 @@ func TestCheckByChance(t *testing.T) {
 
 // 3.1: all others that take a circuit, but Copy and Same, answer what Check refuses, and nothing beside it.
 func TestOthersRefuse(t *testing.T) {
-	for _, f := range faults() {
-		c := clone(right())
-		f.do(&c)
+	for _, f := range samples.Faults() {
+		c := f.Circuit()
 		l, e := shape.Order(c)
 		n, m, g := shape.Renumber(c)
 		ok, h := shape.IsBinary(c)
-		if e != f.want || g != f.want || h != f.want || len(l) != 0 || len(m) != 0 || !isNothing(n) || ok {
-			t.Errorf("%s: Order %v, %v; Renumber %+v, %v, %v; IsBinary %v, %v; want %v", f.name, l, e, n, m, g, ok, h, f.want)
+		if e != f.Want || g != f.Want || h != f.Want || len(l) != 0 || len(m) != 0 || !isNothing(n) || ok {
+			t.Errorf("%s: Order %v, %v; Renumber %+v, %v, %v; IsBinary %v, %v; want %v", f.Name, l, e, n, m, g, ok, h, f.Want)
 		}
 	}
 }

@@ -13,11 +13,9 @@ import (
 
 // 3.4: copies of circuits, right or not, have the same members.
 func TestCopy(t *testing.T) {
-	list := []api.Circuit{{}, right(), {Max: -7, Inputs: []int{-1, 3}, Latches: []api.Latch{{Reset: math.MinInt}}, Justice: [][]int{nil, {}, {9}}}}
-	for _, f := range faults() {
-		c := clone(right())
-		f.do(&c)
-		list = append(list, c)
+	list := []api.Circuit{{}, samples.Right(), {Max: -7, Inputs: []int{-1, 3}, Latches: []api.Latch{{Reset: math.MinInt}}, Justice: [][]int{nil, {}, {9}}}}
+	for _, f := range samples.Faults() {
+		list = append(list, f.Circuit())
 	}
 	for _, c := range longs(api.MaxItems + 1) {
 		list = append(list, c)
@@ -60,20 +58,20 @@ func changes() []func(c *api.Circuit) {
 // 3.4: circuits that are the same but for one member, its place, or how many there are.
 func TestSame(t *testing.T) {
 	for i, change := range changes() {
-		c := clone(right())
+		c := samples.Clone(samples.Right())
 		change(&c)
-		if shape.Same(c, right()) || shape.Same(right(), c) || !shape.Same(c, c) {
+		if shape.Same(c, samples.Right()) || shape.Same(samples.Right(), c) || !shape.Same(c, c) {
 			t.Errorf("change %d", i)
 		}
 		for k, other := range changes()[:i] {
-			d := clone(right())
+			d := samples.Clone(samples.Right())
 			other(&d)
 			if shape.Same(c, d) {
 				t.Errorf("changes %d and %d", i, k)
 			}
 		}
 	}
-	if !shape.Same(right(), clone(right())) {
+	if !shape.Same(samples.Right(), samples.Clone(samples.Right())) {
 		t.Error("a clone is not the same")
 	}
 }

@@ -9,31 +9,6 @@ import (
 	"trestle/shape"
 )
 
-// whole is a circuit's members with all that stands in the spare room of its lists.
-func whole(c api.Circuit) api.Circuit {
-	return clone(api.Circuit{
-		Max: c.Max, Inputs: c.Inputs[:cap(c.Inputs)], Latches: c.Latches[:cap(c.Latches)], Outputs: c.Outputs[:cap(c.Outputs)], Bads: c.Bads[:cap(c.Bads)],
-		Constraints: c.Constraints[:cap(c.Constraints)], Justice: c.Justice[:cap(c.Justice)], Fairness: c.Fairness[:cap(c.Fairness)], Ands: c.Ands[:cap(c.Ands)],
-		Symbols: c.Symbols[:cap(c.Symbols)], Comments: c.Comments[:cap(c.Comments)],
-	})
-}
-
-// guarded is a clone with something in the spare room of its lists.
-func guarded(c api.Circuit) api.Circuit {
-	g := clone(c)
-	samples.Spoil(g)
-	g.Inputs, g.Outputs, g.Bads = append(g.Inputs[:0], c.Inputs...), append(g.Outputs[:0], c.Outputs...), append(g.Bads[:0], c.Bads...)
-	g.Constraints, g.Fairness = append(g.Constraints[:0], c.Constraints...), append(g.Fairness[:0], c.Fairness...)
-	g.Latches, g.Ands = append(g.Latches[:0], c.Latches...), append(g.Ands[:0], c.Ands...)
-	g.Symbols, g.Comments = append(g.Symbols[:0], c.Symbols...), append(g.Comments[:0], c.Comments...)
-	g.Justice = g.Justice[:0]
-	for _, j := range c.Justice {
-		one := append(slices.Clone(j), 99, 99)
-		g.Justice = append(g.Justice, one[:len(j)])
-	}
-	return g
-}
-
 // calls is the calls of the package, each as one that answers a circuit and a list.
 func calls() map[string]func(c api.Circuit) (api.Circuit, []int) {
 	return map[string]func(c api.Circuit) (api.Circuit, []int){
@@ -51,22 +26,20 @@ func calls() map[string]func(c api.Circuit) (api.Circuit, []int) {
 
 // R4, R7: a circuit that is handed in is not changed, spare room too; an answer shares no memory with it, nor with another answer, and is the same the next time.
 func TestMemory(t *testing.T) {
-	list := []api.Circuit{right(), {}, {Max: 3, Inputs: []int{2, 4, 6}}}
-	for _, f := range faults() {
-		c := clone(right())
-		f.do(&c)
-		list = append(list, c)
+	list := []api.Circuit{samples.Right(), {}, {Max: 3, Inputs: []int{2, 4, 6}}}
+	for _, f := range samples.Faults() {
+		list = append(list, f.Circuit())
 	}
 	for _, x := range list {
 		for name, ask := range calls() {
-			c := guarded(x)
-			was := whole(c)
+			c := samples.Guarded(x)
+			was := samples.Whole(c)
 			first, l := ask(c)
-			kept, keptList := clone(first), slices.Clone(l)
+			kept, keptList := samples.Clone(first), slices.Clone(l)
 			second, m := ask(c)
 			samples.Spoil(second)
 			samples.Fill(m, 99)
-			sameCircuit(t, name+": what was handed in", whole(c), was)
+			sameCircuit(t, name+": what was handed in", samples.Whole(c), was)
 			sameCircuit(t, name+": two answers", first, kept)
 			third, n := ask(c)
 			sameCircuit(t, name+": the third answer", third, kept)

@@ -99,7 +99,7 @@ func TestOrderByExample(t *testing.T) {
 		{gates([2]int{6, 8}, [2]int{10, 10}, [2]int{10, 2}, [2]int{2, 2}), []int{3, 1, 2, 0}},
 		{gates([2]int{6, 2}, [2]int{8, 2}, [2]int{10, 2}, [2]int{2, 2}, [2]int{2, 2}), []int{3, 2, 1, 0, 4}},
 		{gates([2]int{14, 14}, [2]int{14, 12}, [2]int{2, 2}, [2]int{15, 2}, [2]int{2, 2}, [2]int{2, 2}), []int{2, 4, 5, 0, 1, 3}},
-		{right(), []int{1, 2, 0, 3}},
+		{samples.Right(), []int{1, 2, 0, 3}},
 	} {
 		if l, e := shape.Order(x.c); !slices.Equal(l, x.want) || e != api.OK {
 			t.Errorf("%d: %v, %v, want %v", i, l, e, x.want)

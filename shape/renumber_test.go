@@ -38,14 +38,14 @@ func TestRenumberByExample(t *testing.T) {
 
 // 3.3: each list of a circuit, a latch with each reset, symbols and comments.
 func TestRenumberOfAllLists(t *testing.T) {
-	want := right()
+	want := samples.Right()
 	want.Max = 9
 	want.Inputs = []int{2, 4}
 	want.Latches = []api.Latch{{Lit: 6, Next: 17, Reset: 6}, {Lit: 8, Next: 2, Reset: 1}, {Lit: 10, Next: 9, Reset: 0}}
 	want.Outputs, want.Bads, want.Constraints = []int{16, 1, 5}, []int{12, 12}, []int{0, 3}
 	want.Justice, want.Fairness = [][]int{{}, {6, 7}, {18}}, []int{11, 14}
 	want.Ands = []api.And{{Out: 12, Left: 6, Right: 5}, {Out: 14, Left: 12, Right: 12}, {Out: 16, Left: 14, Right: 13}, {Out: 18, Left: 16, Right: 0}}
-	n, m := renumbered(t, right())
+	n, m := renumbered(t, samples.Right())
 	sameCircuit(t, "right", n, want)
 	if !slices.Equal(m, []int{0, 4, 10, 6, 2, 0, 0, 8, 0, 12, 16, 14, 18}) {
 		t.Error(m)
@@ -179,7 +179,7 @@ func TestIsBinaryByChance(t *testing.T) {
 	seen := map[bool]int{}
 	for range 40000 {
 		c, _ := renumbered(t, samples.Circuit(r.Intn))
-		if all := numbersOf(&c); r.Intn(3) > 0 {
+		if all := samples.NumbersOf(&c); r.Intn(3) > 0 {
 			*all[r.Intn(len(all))] = r.Intn(2*c.Max + 3)
 		} else if n := len(c.Ands); n > 1 {
 			i := r.Intn(n - 1)
