@@ -1,7 +1,6 @@
 package print_test
 
 import (
-	"math"
 	"math/rand"
 	"slices"
 	"testing"
@@ -59,14 +58,9 @@ func TestEmptyLists(t *testing.T) {
 // P1, R2: circuits by chance with any numbers in them: each call ends, and refuses just what layer 3 refuses of them.
 func TestAnyNumbers(t *testing.T) {
 	r := rand.New(rand.NewSource(67))
-	some := []int{-1, 0, 1, 2, 3, 4, 9, 40, api.MaxVar, 2 * api.MaxVar, api.MaxNumber, math.MaxInt, math.MinInt, -2}
 	seen := map[api.Errno]int{}
 	for range 20000 {
-		c := samples.Circuit(r.Intn)
-		all := samples.NumbersOf(&c)
-		for range 1 + r.Intn(2) {
-			*all[r.Intn(len(all))] = some[r.Intn(len(some))]
-		}
+		c := samples.AnyNumbers(r.Intn)
 		_, want := shape.Check(c)
 		seen[want]++
 		for name, call := range calls() {
@@ -86,7 +80,7 @@ func TestAnyNumbers(t *testing.T) {
 			}
 		}
 	}
-	for _, e := range []api.Errno{api.OK, api.ErrRange, api.ErrLit, api.ErrTwice, api.ErrLoose, api.ErrReset, api.ErrCycle, api.ErrSymbol} {
+	for _, e := range samples.CodesOfNumbers() {
 		if seen[e] < 10 {
 			t.Errorf("%v came but %d times", e, seen[e])
 		}

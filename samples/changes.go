@@ -1,6 +1,7 @@
 package samples
 
 import (
+	"math"
 	"slices"
 	"strings"
 
@@ -70,4 +71,20 @@ func NumbersOf(c *api.Circuit) []*int {
 		out = append(out, &c.Symbols[i].At)
 	}
 	return out
+}
+
+// AnyNumbers is a circuit by chance of which one or two numbers are put anywhere.
+func AnyNumbers(pick func(n int) int) api.Circuit {
+	some := [...]int{-2, -1, 0, 1, 2, 3, 4, 9, 40, api.MaxVar, 2 * api.MaxVar, 2*api.MaxVar + 1, api.MaxNumber, math.MaxInt, math.MinInt}
+	c := Circuit(pick)
+	all := NumbersOf(&c)
+	for range 1 + pick(2) {
+		*all[pick(len(all))] = some[pick(len(some))]
+	}
+	return c
+}
+
+// CodesOfNumbers is what layer 3's Check answers of such circuits.
+func CodesOfNumbers() []api.Errno {
+	return []api.Errno{api.OK, api.ErrRange, api.ErrLit, api.ErrTwice, api.ErrLoose, api.ErrReset, api.ErrCycle, api.ErrSymbol}
 }

@@ -119,6 +119,24 @@ func TestFaults(t *testing.T) {
 	}
 }
 
+// Circuits with numbers put anywhere are refused, or not, as each of the codes says, and by no other one.
+func TestAnyNumbers(t *testing.T) {
+	r := rand.New(rand.NewSource(6))
+	seen := map[api.Errno]int{}
+	for range 20000 {
+		_, e := shape.Check(samples.AnyNumbers(r.Intn))
+		seen[e]++
+	}
+	for _, e := range samples.CodesOfNumbers() {
+		if seen[e] < 10 {
+			t.Errorf("%v came but %d times", e, seen[e])
+		}
+	}
+	if len(seen) != len(samples.CodesOfNumbers()) {
+		t.Errorf("%v", seen)
+	}
+}
+
 // A guarded circuit has the same members, and whatever is written into its numbers, or behind one of its lists, is to be seen in the whole of it.
 func TestGuarded(t *testing.T) {
 	c := samples.Guarded(samples.Right())
@@ -145,4 +163,51 @@ func TestGuarded(t *testing.T) {
 	seen("a justice", func(c *api.Circuit) { _ = append(c.Justice, []int{5}) })
 	seen("a symbol", func(c *api.Circuit) { _ = append(c.Symbols, api.Symbol{}) })
 	seen("a comment", func(c *api.Circuit) { _ = append(c.Comments, "x") })
+}
+
+// Traces by chance have as many rows as they must, each loop that they may have, and are the same by the same picks.
+func TestTrace(t *testing.T) {
+	c := samples.Right()
+	r, again := rand.New(rand.NewSource(5)), rand.New(rand.NewSource(5))
+	loops := map[int]int{}
+	for range 500 {
+		tr := samples.Trace(c, 3, r.Intn)
+		loops[tr.Loop]++
+		if len(tr.Init) != 3 || len(tr.Inputs) != 3 || len(tr.Inputs[2]) != 2 || !samples.SameTrace(tr, samples.Trace(c, 3, again.Intn)) {
+			t.Fatalf("%+v", tr)
+		}
+	}
+	if len(loops) != 4 || min(loops[-1], loops[0], loops[1], loops[2]) < 50 {
+		t.Errorf("loops %v", loops)
+	}
+}
+
+// A guarded trace has the same members; whatever is written into it, or behind one of its lists, is to be seen in the whole of it, and a flipped one has no member left as it was.
+func TestGuardedTrace(t *testing.T) {
+	tr := api.Trace{Init: []bool{true, false}, Inputs: [][]bool{{false}, {true}}, Loop: 1}
+	for _, by := range []bool{false, true} {
+		g := samples.GuardedTrace(tr, by)
+		if !samples.SameTrace(g, tr) {
+			t.Fatalf("%+v, want %+v", g, tr)
+		}
+		was := samples.WholeTrace(g)
+		for i, write := range []func(g *api.Trace){
+			func(g *api.Trace) { g.Init[1] = true }, func(g *api.Trace) { g.Inputs[0][0] = true }, func(g *api.Trace) { g.Inputs[1] = nil }, func(g *api.Trace) { g.Loop = 0 },
+			func(g *api.Trace) { _ = append(g.Init, !by) }, func(g *api.Trace) { _ = append(g.Inputs[1], !by) }, func(g *api.Trace) { _ = append(g.Inputs, nil) },
+		} {
+			g := samples.GuardedTrace(tr, by)
+			write(&g)
+			if samples.SameTrace(samples.WholeTrace(g), was) {
+				t.Errorf("the write %d is not seen", i)
+			}
+		}
+		rows := [][]bool{g.Inputs[0], g.Inputs[1]}
+		samples.FlipTrace(g)
+		if g.Init[0] || !g.Init[1] || !rows[0][0] || rows[1][0] || len(g.Inputs[0])+len(g.Inputs[1]) > 0 {
+			t.Errorf("flipped: %+v, %v", g, rows)
+		}
+	}
+	if !samples.SameTrace(tr, api.Trace{Init: []bool{true, false}, Inputs: [][]bool{{false}, {true}}, Loop: 1}) {
+		t.Errorf("changed: %+v", tr)
+	}
 }

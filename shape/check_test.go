@@ -365,7 +365,7 @@ func TestCheckByChance(t *testing.T) {
 		}
 		seen[want]++
 	}
-	for _, e := range []api.Errno{api.OK, api.ErrRange, api.ErrLit, api.ErrTwice, api.ErrReset, api.ErrLoose, api.ErrCycle, api.ErrSymbol} {
+	for _, e := range samples.CodesOfNumbers() {
 		if seen[e] < 20 {
 			t.Errorf("%v came but %d times", e, seen[e])
 		}
