@@ -25,8 +25,8 @@ func Trace(c api.Circuit, rows int, pick func(n int) int) api.Trace {
 	return t
 }
 
-// GuardedTruths is a copy of truths with some that are by in its spare room.
-func GuardedTruths(l []bool, by bool) []bool {
+// GuardedList is a copy of a list with members that are by in its spare room.
+func GuardedList[T any](l []T, by T) []T {
 	g := roomy(l)
 	Fill(g, by)
 	return append(g[:0], l...)
@@ -34,10 +34,10 @@ func GuardedTruths(l []bool, by bool) []bool {
 
 // GuardedTrace is a copy of a trace with something in the spare room of its lists: truths that are by, and rows of these.
 func GuardedTrace(t api.Trace, by bool) api.Trace {
-	g := api.Trace{Init: GuardedTruths(t.Init, by), Inputs: roomy(t.Inputs), Loop: t.Loop}
+	g := api.Trace{Init: GuardedList(t.Init, by), Inputs: roomy(t.Inputs), Loop: t.Loop}
 	Fill(g.Inputs, []bool{by})
 	for i, row := range t.Inputs {
-		g.Inputs[i] = GuardedTruths(row, by)
+		g.Inputs[i] = GuardedList(row, by)
 	}
 	return g
 }
