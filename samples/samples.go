@@ -37,6 +37,20 @@ func Circuit(pick func(n int) int) api.Circuit {
 	return c
 }
 
+// TwoGates is all right circuits of two gates over an input and a latch; of the gates the one that stands first may use the other one.
+func TwoGates() []api.Circuit {
+	var all []api.Circuit
+	for _, first := range AllLists(2, 0, 1, 2, 3, 4, 5, 8, 9) {
+		for _, second := range AllLists(2, 0, 1, 2, 3, 4, 5) {
+			all = append(all, api.Circuit{
+				Max: 4, Inputs: []int{2}, Latches: []api.Latch{{Lit: 4, Next: 7}}, Bads: []int{6, 9},
+				Ands: []api.And{{Out: 6, Left: first[0], Right: first[1]}, {Out: 8, Left: second[0], Right: second[1]}},
+			})
+		}
+	}
+	return all
+}
+
 // maker makes a circuit's parts.
 type maker struct {
 	pick  func(n int) int

@@ -2,6 +2,7 @@ package samples_test
 
 import (
 	"math/rand"
+	"strings"
 	"testing"
 
 	"trestle/api"
@@ -37,6 +38,25 @@ func TestCircuit(t *testing.T) {
 		if k < n/4 || k > n-10 {
 			t.Errorf("the list %d has something in %d of %d", i, k, n)
 		}
+	}
+}
+
+// All circuits of two gates are right, and unlike; in some the first gate uses the second one.
+func TestTwoGates(t *testing.T) {
+	all := samples.TwoGates()
+	seen := map[[2]api.And]int{}
+	use := 0
+	for _, c := range all {
+		if at, e := shape.Check(c); e != api.OK {
+			t.Fatalf("%+v: %d, %v", c, at, e)
+		}
+		seen[[2]api.And(c.Ands)]++
+		if max(c.Ands[0].Left, c.Ands[0].Right) >= c.Ands[1].Out {
+			use++
+		}
+	}
+	if len(all) != 8*8*6*6 || len(seen) != len(all) || use != (8*8-6*6)*6*6 {
+		t.Errorf("%d circuits, %d unlike, %d in which the first gate uses the second one", len(all), len(seen), use)
 	}
 }
 
@@ -163,6 +183,41 @@ func TestGuarded(t *testing.T) {
 	seen("a justice", func(c *api.Circuit) { _ = append(c.Justice, []int{5}) })
 	seen("a symbol", func(c *api.Circuit) { _ = append(c.Symbols, api.Symbol{}) })
 	seen("a comment", func(c *api.Circuit) { _ = append(c.Comments, "x") })
+	// What is spoilt is seen in each list that has spare room alone.
+	for i, spare := range []func(from, c *api.Circuit){
+		func(from, c *api.Circuit) { c.Inputs = from.Inputs }, func(from, c *api.Circuit) { c.Outputs = from.Outputs }, func(from, c *api.Circuit) { c.Bads = from.Bads },
+		func(from, c *api.Circuit) { c.Constraints = from.Constraints }, func(from, c *api.Circuit) { c.Fairness = from.Fairness }, func(from, c *api.Circuit) { c.Justice = from.Justice },
+		func(from, c *api.Circuit) { c.Latches = from.Latches }, func(from, c *api.Circuit) { c.Ands = from.Ands },
+		func(from, c *api.Circuit) { c.Symbols = from.Symbols }, func(from, c *api.Circuit) { c.Comments = from.Comments },
+	} {
+		from := samples.Guarded(api.Circuit{})
+		var one api.Circuit
+		spare(&from, &one)
+		was := samples.Whole(one)
+		samples.Spoil(one)
+		if shape.Same(samples.Whole(one), was) || !shape.Same(one, api.Circuit{}) {
+			t.Errorf("the list %d: what is spoilt is not seen: %+v", i, was)
+		}
+	}
+}
+
+// All lists are there once each, of no members too, and share no memory.
+func TestAllLists(t *testing.T) {
+	for n, want := range []int{1, 3, 9, 27} {
+		seen := map[string]int{}
+		for _, l := range samples.AllLists(n, 'a', 'b', 'c') {
+			seen[string(l)]++
+			samples.Fill(l, 'z')
+		}
+		if len(seen) != want {
+			t.Errorf("%d members: %v", n, seen)
+		}
+		for s := range seen {
+			if len(s) != n || strings.Contains(s, "z") {
+				t.Errorf("%d members: %q", n, s)
+			}
+		}
+	}
 }
 
 // Traces by chance have as many rows as they must, each loop that they may have, and are the same by the same picks.

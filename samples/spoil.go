@@ -2,6 +2,7 @@ package samples
 
 import (
 	"slices"
+	"strconv"
 
 	"trestle/api"
 )
@@ -24,16 +25,25 @@ func Lists(c api.Circuit) [][]int {
 	return all
 }
 
+// What is written over lists, and what stands in the spare room of guarded ones: they are not alike, so that the one is seen where the other was.
+const (
+	spoilt = 99
+	guard  = 98
+)
+
 // Spoil writes over all that belongs to a circuit's lists, spare room too: what shares memory with it is not the same any more.
-func Spoil(c api.Circuit) {
+func Spoil(c api.Circuit) { spoilBy(c, spoilt) }
+
+// spoilBy writes a number over all that belongs to a circuit's lists, spare room too.
+func spoilBy(c api.Circuit, by int) {
 	for _, l := range Lists(c) {
-		Fill(l, 99)
+		Fill(l, by)
 	}
-	Fill(c.Justice, []int{99})
-	Fill(c.Latches, api.Latch{Lit: 99})
-	Fill(c.Ands, api.And{Out: 99})
-	Fill(c.Symbols, api.Symbol{Kind: 'z'})
-	Fill(c.Comments, "spoilt")
+	Fill(c.Justice, []int{by})
+	Fill(c.Latches, api.Latch{Lit: by})
+	Fill(c.Ands, api.And{Out: by})
+	Fill(c.Symbols, api.Symbol{Kind: 'z', At: by})
+	Fill(c.Comments, strconv.Itoa(by))
 }
 
 // Whole is a circuit's members with all that stands in the spare room of its lists.
@@ -52,14 +62,14 @@ func Whole(c api.Circuit) api.Circuit {
 // Guarded is a clone with something in the spare room of its lists.
 func Guarded(c api.Circuit) api.Circuit {
 	g := Clone(c)
-	Spoil(g)
+	spoilBy(g, guard)
 	g.Inputs, g.Outputs, g.Bads = append(g.Inputs[:0], c.Inputs...), append(g.Outputs[:0], c.Outputs...), append(g.Bads[:0], c.Bads...)
 	g.Constraints, g.Fairness = append(g.Constraints[:0], c.Constraints...), append(g.Fairness[:0], c.Fairness...)
 	g.Latches, g.Ands = append(g.Latches[:0], c.Latches...), append(g.Ands[:0], c.Ands...)
 	g.Symbols, g.Comments = append(g.Symbols[:0], c.Symbols...), append(g.Comments[:0], c.Comments...)
 	g.Justice = g.Justice[:0]
 	for _, j := range c.Justice {
-		one := append(slices.Clone(j), 99, 99)
+		one := append(slices.Clone(j), guard, guard)
 		g.Justice = append(g.Justice, one[:len(j)])
 	}
 	return g

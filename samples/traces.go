@@ -6,6 +6,21 @@ import (
 	"trestle/api"
 )
 
+// AllLists is all lists of n members, each of which is one of these.
+func AllLists[T any](n int, of ...T) [][]T {
+	out := [][]T{{}}
+	for range n {
+		var longer [][]T
+		for _, l := range out {
+			for _, x := range of {
+				longer = append(longer, append(slices.Clone(l), x))
+			}
+		}
+		out = longer
+	}
+	return out
+}
+
 // Truths is n truths, each as pick says.
 func Truths(n int, pick func(n int) int) []bool {
 	out := make([]bool, n)

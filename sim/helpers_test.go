@@ -5,6 +5,7 @@ import (
 	"testing"
 
 	"trestle/api"
+	"trestle/samples"
 	"trestle/sim"
 )
 
@@ -27,18 +28,7 @@ func rows(all ...string) [][]bool {
 }
 
 // allTruths is all lists of n truths.
-func allTruths(n int) [][]bool {
-	out := [][]bool{{}}
-	for range n {
-		for _, l := range out {
-			out = append(out, append(slices.Clone(l), true))
-		}
-		for i := range len(out) / 2 {
-			out[i] = append(slices.Clone(out[i]), false)
-		}
-	}
-	return out
-}
+func allTruths(n int) [][]bool { return samples.AllLists(n, false, true) }
 
 // turning is the circuit T of the document: one latch that turns each step.
 func turning() api.Circuit {

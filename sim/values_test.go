@@ -7,7 +7,6 @@ import (
 
 	"trestle/api"
 	"trestle/samples"
-	"trestle/shape"
 )
 
 // 7.1: the examples of the chapter, and steps of a circuit whose gates stand ahead of those that they use, and of which some variables are not defined.
@@ -79,12 +78,7 @@ func TestGates(t *testing.T) {
 
 // 7.1, 7.4: all circuits of two gates over an input and a latch, in both orders.
 func TestTwoGates(t *testing.T) {
-	for n := range 10 * 10 * 6 * 6 {
-		first, second := api.And{Out: 6, Left: n % 10, Right: n / 10 % 10}, api.And{Out: 8, Left: n / 100 % 6, Right: n / 600}
-		c := api.Circuit{Max: 4, Inputs: []int{2}, Latches: []api.Latch{{Lit: 4, Next: 7}}, Bads: []int{6, 9}, Ands: []api.And{first, second}}
-		if _, e := shape.Check(c); e != api.OK {
-			continue // the first one uses itself
-		}
+	for _, c := range samples.TwoGates() {
 		for i := range 4 {
 			state, row := []bool{i%2 == 1}, []bool{i/2 == 1}
 			values(t, c, state, row, valuesOf(c, state, row))

@@ -5,6 +5,7 @@ import (
 	"testing"
 
 	"trestle/api"
+	"trestle/samples"
 	"trestle/tern"
 )
 
@@ -18,19 +19,7 @@ func row(s string) []int {
 }
 
 // allRows is all rows of n values.
-func allRows(n int) [][]int {
-	out := [][]int{{}}
-	for range n {
-		var longer [][]int
-		for _, l := range out {
-			for v := range 3 {
-				longer = append(longer, append(slices.Clone(l), v))
-			}
-		}
-		out = longer
-	}
-	return out
-}
+func allRows(n int) [][]int { return samples.AllLists(n, 0, 1, 2) }
 
 // someRow is n values, each as pick says.
 func someRow(n int, pick func(n int) int) []int {

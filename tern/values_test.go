@@ -8,7 +8,6 @@ import (
 
 	"trestle/api"
 	"trestle/samples"
-	"trestle/shape"
 )
 
 // 8.1: the example of the chapter, and rows of a circuit whose gates stand ahead of those that they use, and of which some variables are not defined.
@@ -76,12 +75,7 @@ func TestGates(t *testing.T) {
 
 // 8.1: all circuits of two gates over an input and a latch, in both orders, by all rows.
 func TestTwoGates(t *testing.T) {
-	for n := range 10 * 10 * 6 * 6 {
-		first, second := api.And{Out: 6, Left: n % 10, Right: n / 10 % 10}, api.And{Out: 8, Left: n / 100 % 6, Right: n / 600}
-		c := api.Circuit{Max: 4, Inputs: []int{2}, Latches: []api.Latch{{Lit: 4, Next: 7}}, Ands: []api.And{first, second}}
-		if _, e := shape.Check(c); e != api.OK {
-			continue // the first one uses itself
-		}
+	for _, c := range samples.TwoGates() {
 		byAllRows(t, c)
 		slices.Reverse(c.Ands)
 		byAllRows(t, c)
