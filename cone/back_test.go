@@ -14,11 +14,11 @@ import (
 func TestBackByExample(t *testing.T) {
 	c := example()
 	x := cutBy(t, c, bad(0))
-	goesBack(t, c, x, trace(-1, "0", "1"), trace(-1, "00", "10"))
-	goesBack(t, c, x, trace(-1, "1", "0", "1", "0"), trace(-1, "10", "00", "10", "00"))
+	goesBack(t, c, x, samples.Told(-1, "0", "1"), samples.Told(-1, "00", "10"))
+	goesBack(t, c, x, samples.Told(-1, "1", "0", "1", "0"), samples.Told(-1, "10", "00", "10", "00"))
 	comesOf(t, c, x, []int{5}, []int{7})
 	x = cutBy(t, c, bad(1))
-	goesBack(t, c, x, trace(0, "1", "1", "0"), trace(0, "01", "01", "00"))
+	goesBack(t, c, x, samples.Told(0, "1", "1", "0"), samples.Told(0, "01", "01", "00"))
 	comesOf(t, c, x, []int{4, 5}, []int{8, 9})
 }
 
@@ -31,13 +31,13 @@ func TestWhatTheCutHasNot(t *testing.T) {
 	for _, l := range []int{14, 2, 8, 6, 12, 10} {
 		c.Latches = append(c.Latches, api.Latch{Lit: l, Next: 16, Reset: [...]int{0, 1, l}[len(c.Latches)%3]})
 	}
-	goesBack(t, c, cutAt(nil, nil), trace(-1, "", "", ""), trace(-1, "010010", "00", "00"))
-	goesBack(t, c, cutAt([]int{1}, []int{0, 1, 2}), trace(-1, "111", "1"), trace(-1, "111010", "01"))
-	goesBack(t, c, cutAt([]int{1}, []int{0, 1, 2}), trace(-1, "000", "0", "1"), trace(-1, "000010", "00", "01"))
-	goesBack(t, c, cutAt([]int{0}, []int{1, 3, 4, 5}), trace(-1, "0101", "1", "0"), trace(-1, "000101", "10", "00"))
-	goesBack(t, c, cutAt([]int{0, 1}, []int{5}), trace(-1, "1", "10", "01", "11", "00"), trace(-1, "010011", "10", "01", "11", "00"))
+	goesBack(t, c, cutAt(nil, nil), samples.Told(-1, "", "", ""), samples.Told(-1, "010010", "00", "00"))
+	goesBack(t, c, cutAt([]int{1}, []int{0, 1, 2}), samples.Told(-1, "111", "1"), samples.Told(-1, "111010", "01"))
+	goesBack(t, c, cutAt([]int{1}, []int{0, 1, 2}), samples.Told(-1, "000", "0", "1"), samples.Told(-1, "000010", "00", "01"))
+	goesBack(t, c, cutAt([]int{0}, []int{1, 3, 4, 5}), samples.Told(-1, "0101", "1", "0"), samples.Told(-1, "000101", "10", "00"))
+	goesBack(t, c, cutAt([]int{0, 1}, []int{5}), samples.Told(-1, "1", "10", "01", "11", "00"), samples.Told(-1, "010011", "10", "01", "11", "00"))
 	for _, first := range samples.AllLists(6, false, true) {
-		goesBack(t, c, cutAt(nil, from(0, 5)), api.Trace{Init: first, Inputs: make([][]bool, 3)}, api.Trace{Init: first, Inputs: [][]bool{bits("00"), bits("00"), bits("00")}})
+		goesBack(t, c, cutAt(nil, from(0, 5)), api.Trace{Init: first, Inputs: make([][]bool, 3)}, api.Trace{Init: first, Inputs: [][]bool{samples.Bits("00"), samples.Bits("00"), samples.Bits("00")}})
 	}
 }
 
@@ -47,7 +47,7 @@ func TestRowsAndLoops(t *testing.T) {
 	x := cutBy(t, c, bad(0))
 	for _, n := range []int{0, 1, 2, api.MaxFrames - 1, api.MaxFrames} {
 		for _, loop := range []int{-1, 0, 1, n - 1, n, n + 1, -2, math.MaxInt, math.MinInt} {
-			tr, want := trace(loop, "1"), trace(loop, "10")
+			tr, want := samples.Told(loop, "1"), samples.Told(loop, "10")
 			for i := range n {
 				tr.Inputs, want.Inputs = append(tr.Inputs, []bool{i%3 == 1}), append(want.Inputs, []bool{i%3 == 1, false})
 			}
@@ -55,7 +55,7 @@ func TestRowsAndLoops(t *testing.T) {
 		}
 	}
 	goesBack(t, api.Circuit{}, api.Cut{}, api.Trace{}, api.Trace{})
-	goesBack(t, api.Circuit{Max: 3}, api.Cut{}, trace(2, "", "", ""), trace(2, "", "", ""))
+	goesBack(t, api.Circuit{Max: 3}, api.Cut{}, samples.Told(2, "", "", ""), samples.Told(2, "", "", ""))
 }
 
 // 10.3: but a cut's Inputs and Latches are not looked at for a trace, but its Lits for a lemma.
@@ -64,13 +64,13 @@ func TestWhatIsNotLookedAt(t *testing.T) {
 	for _, f := range samples.Faults() {
 		x := cutBy(t, c, bad(0))
 		x.C = f.Circuit()
-		goesBack(t, c, x, trace(-1, "1", "1"), trace(-1, "10", "10"))
+		goesBack(t, c, x, samples.Told(-1, "1", "1"), samples.Told(-1, "10", "10"))
 		comesOf(t, c, x, []int{5, 2}, []int{7, 2})
 	}
 	for _, lits := range [][]int{nil, {-7}, {0, 2, 2, 1, 3}, slices.Repeat([]int{99}, 3*api.MaxItems)} {
 		x := cutAt([]int{0}, []int{0})
 		x.Lits = lits
-		goesBack(t, c, x, trace(-1, "1", "1"), trace(-1, "10", "10"))
+		goesBack(t, c, x, samples.Told(-1, "1", "1"), samples.Told(-1, "10", "10"))
 		x = cutAt(lits, lits)
 		x.Lits = []int{0, 2, -1, 4, -1, -1}
 		comesOf(t, c, x, []int{5, 2}, []int{7, 2})
@@ -91,7 +91,7 @@ func TestBackOfMost(t *testing.T) {
 	last := api.MaxVar/2 - 1
 	want := api.Trace{Init: make([]bool, len(c.Latches)), Inputs: [][]bool{make([]bool, len(c.Inputs))}, Loop: -1}
 	want.Init[last], want.Inputs[0][last] = true, true
-	goesBack(t, c, cutAt([]int{0, last}, []int{7, last}), trace(-1, "01", "01"), want)
+	goesBack(t, c, cutAt([]int{0, last}, []int{7, last}), samples.Told(-1, "01", "01"), want)
 }
 
 // anyCut is a cut that says some inputs and latches of a circuit, and of its variables literals, all of which may be.

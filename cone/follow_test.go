@@ -12,9 +12,6 @@ import (
 	"trestle/sim"
 )
 
-// value is that of a literal by values of variables.
-func value(values []bool, l int) bool { return values[l/2] == (l%2 == 0) }
-
 // momentsOf is what layer 7 tells of a trace.
 func momentsOf(t *testing.T, c api.Circuit, tr api.Trace) []api.Moment {
 	t.Helper()
@@ -79,16 +76,6 @@ func chosen(truths []bool, numbers []int) []bool {
 	return out
 }
 
-// began is a trace whose first state may begin, with the values of the trace where the circuit leaves them free.
-func began(c api.Circuit, tr api.Trace) api.Trace {
-	for i, l := range c.Latches {
-		if l.Reset != l.Lit {
-			tr.Init[i] = l.Reset == 1
-		}
-	}
-	return tr
-}
-
 // sameSteps holds a trace of a cut against what came of it in the circuit, step by step; it tells whether the trace is a run.
 func sameSteps(t *testing.T, c api.Circuit, p api.Prop, x api.Cut, tr, back api.Trace) bool {
 	t.Helper()
@@ -123,7 +110,7 @@ func TestRunsTakenBack(t *testing.T) {
 			x := cutBy(t, c, p)
 			tr := samples.Trace(x.C, 1+r.Intn(6), r.Intn)
 			if r.Intn(2) == 0 {
-				tr = began(x.C, tr)
+				tr = samples.Began(x.C, tr)
 			}
 			if sameSteps(t, c, p, x, tr, traceBy(t, c, x, tr)) {
 				runs++
@@ -198,7 +185,7 @@ func TestValuesAreTheSame(t *testing.T) {
 				for _, row := range samples.AllLists(len(c.Inputs), false, true) {
 					sameValues(t, c, x, state, row)
 					v, w := valuesBy(t, c, state, row), valuesBy(t, x.C, few, chosen(row, x.Inputs))
-					if slices.ContainsFunc(lemma, func(l int) bool { return value(w, l) }) != slices.ContainsFunc(taken, func(l int) bool { return value(v, l) }) {
+					if slices.ContainsFunc(lemma, func(l int) bool { return samples.Value(w, l) }) != slices.ContainsFunc(taken, func(l int) bool { return samples.Value(v, l) }) {
 						t.Fatalf("%s: the lemma %v, taken back %v, in %v by %v", brief(c, p), lemma, taken, state, row)
 					}
 				}
@@ -213,7 +200,7 @@ func sameValues(t *testing.T, c api.Circuit, x api.Cut, state, row []bool) {
 	few, part := chosen(state, x.Latches), chosen(row, x.Inputs)
 	v, w := valuesBy(t, c, state, row), valuesBy(t, x.C, few, part)
 	for i, l := range x.Lits {
-		if l >= 0 && v[i] != value(w, l) {
+		if l >= 0 && v[i] != samples.Value(w, l) {
 			t.Fatalf("%s: the variable %d, in the cut %d, in %v by %v", brief(c, x), i, l, state, row)
 		}
 	}
@@ -224,94 +211,14 @@ func sameValues(t *testing.T, c api.Circuit, x api.Cut, state, row []bool) {
 	}
 }
 
-// edge is a step that holds: from a state, by its number, to the next one, and the values of all variables in it.
-type edge struct {
-	from, to int
-	values   []bool
-}
-
-// graph is all steps of a circuit that hold, and which of its states may begin.
-type graph struct {
-	begins []bool
-	edges  []edge
-}
-
 // graphOf goes over all states and rows.
-func graphOf(t *testing.T, c api.Circuit) graph {
+func graphOf(t *testing.T, c api.Circuit) samples.Graph {
 	t.Helper()
-	states := samples.AllLists(len(c.Latches), false, true)
-	g := graph{begins: make([]bool, len(states))}
-	for i, state := range states {
-		g.begins[i] = startsBy(t, c, state)
-		for _, row := range samples.AllLists(len(c.Inputs), false, true) {
-			next, holds := nextBy(t, c, state, row)
-			if !holds {
-				continue
-			}
-			to := slices.IndexFunc(states, func(s []bool) bool { return slices.Equal(s, next) })
-			g.edges = append(g.edges, edge{i, to, valuesBy(t, c, state, row)})
-		}
+	g, e := samples.GraphOf(c)
+	if e != api.OK {
+		t.Fatalf("%s: %v", brief(c), e)
 	}
 	return g
-}
-
-// depths tells of each depth, below most, whether a bad is reached at it.
-func (g graph) depths(l, most int) []bool {
-	out := make([]bool, most)
-	now := g.begins
-	for depth := range most {
-		next := make([]bool, len(now))
-		for _, e := range g.edges {
-			if now[e.from] {
-				out[depth] = out[depth] || value(e.values, l)
-				next[e.to] = true
-			}
-		}
-		now = next
-	}
-	return out
-}
-
-// leads tells of each two states whether steps lead from the one to the other one; of one state they may be none.
-func (g graph) leads() [][]bool {
-	out := make([][]bool, len(g.begins))
-	for i := range out {
-		out[i] = make([]bool, len(g.begins))
-		out[i][i] = true
-	}
-	for range g.begins {
-		for _, e := range g.edges {
-			for i := range out {
-				out[i][e.to] = out[i][e.to] || out[i][e.from]
-			}
-		}
-	}
-	return out
-}
-
-// broken tells whether there is a lasso in whose loop each of these literals is true in some step: round a state that is reached all steps may come that lead away from it and back.
-func (g graph) broken(must []int) bool {
-	leads := g.leads()
-	for home := range g.begins {
-		reached := false
-		for i, is := range g.begins {
-			reached = reached || is && leads[i][home]
-		}
-		var round []edge
-		for _, e := range g.edges {
-			if leads[home][e.from] && leads[e.to][home] {
-				round = append(round, e)
-			}
-		}
-		all := reached && len(round) > 0
-		for _, l := range must {
-			all = all && slices.ContainsFunc(round, func(e edge) bool { return value(e.values, l) })
-		}
-		if all {
-			return true
-		}
-	}
-	return false
 }
 
 // 10.4: the cut's bad is reached at just the depths at which the circuit's is; its justice property is broken just where the circuit's is.
@@ -326,15 +233,15 @@ func TestPropertiesAreTheSame(t *testing.T) {
 			x := cutBy(t, c, p)
 			part := graphOf(t, x.C)
 			if p.Kind == 'b' {
-				was, is := whole.depths(c.Bads[p.At], most), part.depths(x.C.Bads[0], most)
+				was, is := whole.Depths(c.Bads[p.At], most), part.Depths(x.C.Bads[0], most)
 				if !slices.Equal(was, is) {
 					t.Fatalf("%s: reached at %v, in the cut at %v", brief(c, p), was, is)
 				}
 				seen[[2]bool{true, slices.Contains(is, true)}]++
 				continue
 			}
-			was := whole.broken(slices.Concat(c.Justice[p.At], c.Fairness))
-			if is := part.broken(slices.Concat(x.C.Justice[0], x.C.Fairness)); is != was {
+			was := whole.Broken(slices.Concat(c.Justice[p.At], c.Fairness))
+			if is := part.Broken(slices.Concat(x.C.Justice[0], x.C.Fairness)); is != was {
 				t.Fatalf("%s: broken: %v, in the cut: %v", brief(c, p), was, is)
 			}
 			seen[[2]bool{false, was}]++

@@ -205,21 +205,3 @@ func refuse(t *testing.T, what any, all []call, c api.Circuit, g given, want api
 		}
 	}
 }
-
-// bits is truths, told as a text of 0 and 1.
-func bits(s string) []bool {
-	out := make([]bool, len(s))
-	for i := range s {
-		out[i] = s[i] == '1'
-	}
-	return out
-}
-
-// trace is a trace, told as texts of 0 and 1.
-func trace(loop int, first string, rows ...string) api.Trace {
-	tr := api.Trace{Init: bits(first), Loop: loop}
-	for _, s := range rows {
-		tr.Inputs = append(tr.Inputs, bits(s))
-	}
-	return tr
-}

@@ -85,8 +85,8 @@ func asked(t *testing.T) ([]api.Circuit, []given) {
 		all = append(all, given{lits: []int{24, 5, 24}, p: p, q: bad(0), x: x, tr: traceFor(x, 3), l: []int{4, 3, 4}}, given{lits: []int{6}, p: bad(0), q: p, x: x, tr: traceFor(x, 0)})
 	}
 	x := cutBy(t, example(), bad(0))
-	all = append(all, given{lits: []int{10, 0}, p: bad(1), q: bad(0), x: x, tr: trace(0, "1", "0", "1"), l: []int{5, 2}})
-	return circuits, append(all, given{x: cutAt([]int{1}, nil), tr: trace(-1, "", "1", "0")}, given{lits: []int{4, 2, 7}, x: api.Cut{Lits: []int{0, 2, 4, -1}}, l: []int{5, 2}})
+	all = append(all, given{lits: []int{10, 0}, p: bad(1), q: bad(0), x: x, tr: samples.Told(0, "1", "0", "1"), l: []int{5, 2}})
+	return circuits, append(all, given{x: cutAt([]int{1}, nil), tr: samples.Told(-1, "", "1", "0")}, given{lits: []int{4, 2, 7}, x: api.Cut{Lits: []int{0, 2, 4, -1}}, l: []int{5, 2}})
 }
 
 // R4, R7: what is handed in is not changed, spare room too, nor read behind its length; an answer shares no memory with it, nor with another answer, and is the same the next time.
@@ -151,7 +151,7 @@ func TestListsOfOneCut(t *testing.T) {
 // R4: no two rows of one trace share memory, spare room too, nor do they with the first values, also where those that were handed in do.
 func TestListsOfOneTrace(t *testing.T) {
 	c := example()
-	one := bits("1")
+	one := samples.Bits("1")
 	for _, x := range []api.Cut{cutBy(t, c, bad(0)), cutBy(t, c, bad(1))} {
 		tr := traceBy(t, c, x, api.Trace{Init: one, Inputs: [][]bool{one, one, one}, Loop: -1})
 		lists := append([][]bool{tr.Init}, tr.Inputs...)
@@ -165,7 +165,7 @@ func TestListsOfOneTrace(t *testing.T) {
 			}
 		}
 	}
-	if !slices.Equal(one, bits("1")) {
+	if !slices.Equal(one, samples.Bits("1")) {
 		t.Errorf("changed what was handed in: %v", one)
 	}
 }
@@ -175,10 +175,10 @@ func TestSharedLists(t *testing.T) {
 	one := []int{0, 1, 2, 4}
 	c := api.Circuit{Max: 3, Inputs: one[2:], Latches: []api.Latch{{Lit: 6, Next: 4}}, Bads: one[1:], Justice: [][]int{one, one[2:]}, Constraints: one[:2]}
 	x := api.Cut{Lits: one, Inputs: one[:2], Latches: one[:1]}
-	asWords(t, calls(), c, given{lits: one, p: bad(1), q: justice(0), x: api.Cut{Lits: []int{0, -1, 2, 4}, Inputs: x.Inputs, Latches: x.Latches}, tr: trace(0, "1", "01"), l: one[2:]})
-	truths := bits("10")
-	goesBack(t, c, x, api.Trace{Init: truths[:1], Inputs: [][]bool{truths, truths}, Loop: 1}, trace(1, "1", "10", "10"))
-	if !slices.Equal(one, []int{0, 1, 2, 4}) || !slices.Equal(truths, bits("10")) {
+	asWords(t, calls(), c, given{lits: one, p: bad(1), q: justice(0), x: api.Cut{Lits: []int{0, -1, 2, 4}, Inputs: x.Inputs, Latches: x.Latches}, tr: samples.Told(0, "1", "01"), l: one[2:]})
+	truths := samples.Bits("10")
+	goesBack(t, c, x, api.Trace{Init: truths[:1], Inputs: [][]bool{truths, truths}, Loop: 1}, samples.Told(1, "1", "10", "10"))
+	if !slices.Equal(one, []int{0, 1, 2, 4}) || !slices.Equal(truths, samples.Bits("10")) {
 		t.Errorf("changed what was handed in: %v, %v", one, truths)
 	}
 }

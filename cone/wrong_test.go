@@ -109,9 +109,9 @@ func TestNumbersOfCuts(t *testing.T) {
 		}
 	}
 	// Numbers of the one that are none of the other one.
-	refuse(t, "2 of inputs", some("Trace"), c, given{x: cutAt([]int{2}, []int{2}), tr: trace(-1, "0", "0")}, api.ErrShape)
-	refuse(t, "0 of none", some("Trace"), api.Circuit{}, given{x: cutAt([]int{0}, nil), tr: trace(-1, "", "0")}, api.ErrShape)
-	refuse(t, "0 of none", some("Trace"), api.Circuit{}, given{x: cutAt(nil, []int{0}), tr: trace(-1, "0", "")}, api.ErrShape)
+	refuse(t, "2 of inputs", some("Trace"), c, given{x: cutAt([]int{2}, []int{2}), tr: samples.Told(-1, "0", "0")}, api.ErrShape)
+	refuse(t, "0 of none", some("Trace"), api.Circuit{}, given{x: cutAt([]int{0}, nil), tr: samples.Told(-1, "", "0")}, api.ErrShape)
+	refuse(t, "0 of none", some("Trace"), api.Circuit{}, given{x: cutAt(nil, []int{0}), tr: samples.Told(-1, "0", "")}, api.ErrShape)
 }
 
 // 10.3: first values, and rows, that are too many or too few, rows that are too many, and several of these.
@@ -141,8 +141,8 @@ func TestTracesThatDoNotFit(t *testing.T) {
 		}
 	}
 	// What goes with the circuit goes not with the cut.
-	refuse(t, "the circuit's", some("Trace"), c, given{x: x, tr: trace(-1, "000", "00")}, api.ErrShape)
-	refuse(t, "the other's", some("Trace"), c, given{x: x, tr: trace(-1, "0", "00")}, api.ErrShape)
+	refuse(t, "the circuit's", some("Trace"), c, given{x: x, tr: samples.Told(-1, "000", "00")}, api.ErrShape)
+	refuse(t, "the other's", some("Trace"), c, given{x: x, tr: samples.Told(-1, "0", "00")}, api.ErrShape)
 }
 
 // wrongLits is what may not stand in place of the literals [0 2 -1 4 -1 -1], of a circuit of five variables.
@@ -212,8 +212,8 @@ func TestLemmasTooLong(t *testing.T) {
 func wrongAnyway(t *testing.T) []given {
 	x := cutBy(t, samples.Right(), justice(2))
 	return []given{
-		{lits: []int{24}, p: justice(2), q: bad(1), x: x, tr: trace(-1, "010", "01"), l: []int{7}}, {},
-		{lits: []int{-1, 26}, p: api.Prop{Kind: 'x'}, q: bad(-1), x: cutAt([]int{1, 0}, []int{7}), tr: trace(-1, "0", ""), l: []int{0}},
+		{lits: []int{24}, p: justice(2), q: bad(1), x: x, tr: samples.Told(-1, "010", "01"), l: []int{7}}, {},
+		{lits: []int{-1, 26}, p: api.Prop{Kind: 'x'}, q: bad(-1), x: cutAt([]int{1, 0}, []int{7}), tr: samples.Told(-1, "0", ""), l: []int{0}},
 		{lits: make([]int, api.MaxItems+1), p: bad(2), q: justice(3), x: cutAt(from(0, api.MaxItems), nil), tr: traceFor(x, api.MaxFrames+1), l: make([]int, api.MaxItems+1)},
 	}
 }

@@ -87,19 +87,16 @@ func TestWhatCallsSay(t *testing.T) {
 				for _, x := range all {
 					var is []bool
 					for _, l := range x.lits {
-						is = append(is, value(v, l))
+						is = append(is, samples.Value(v, l))
 					}
-					if value(v, x.is) != x.says(is) {
-						t.Fatalf("%s%v: %d, which is %v in %v by %v; %v", x.name, x.lits, x.is, value(v, x.is), state, row, c.Ands)
+					if samples.Value(v, x.is) != x.says(is) {
+						t.Fatalf("%s%v: %d, which is %v in %v by %v; %v", x.name, x.lits, x.is, samples.Value(v, x.is), state, row, c.Ands)
 					}
 				}
 			}
 		}
 	}
 }
-
-// value is a literal's value by those of the variables.
-func value(values []bool, l int) bool { return values[l/2] == (l%2 == 0) }
 
 // tight holds a circuit against what is so of all that a builder makes: it is right, has the binary order, no two like gates and no trivial one.
 func tight(t *testing.T, c api.Circuit) {

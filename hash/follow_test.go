@@ -11,23 +11,14 @@ import (
 	"trestle/sim"
 )
 
-// step is what layer 7 tells of a circuit in a state by an input row.
-type step struct {
-	values, next  []bool
-	holds, starts bool
-}
-
 // stepOf asks layer 7.
-func stepOf(t *testing.T, c api.Circuit, state, row []bool) step {
+func stepOf(t *testing.T, c api.Circuit, state, row []bool) samples.Step {
 	t.Helper()
-	v, e := sim.Values(c, state, row)
-	n, f := sim.Next(c, state, row)
-	h, g := sim.Holds(c, state, row)
-	s, k := sim.Starts(c, state)
-	if e != api.OK || f != api.OK || g != api.OK || k != api.OK {
-		t.Fatalf("%+v in %v by %v: %v, %v, %v, %v", c, state, row, e, f, g, k)
+	s, e := samples.StepOf(c, state, row)
+	if e != api.OK {
+		t.Fatalf("%+v in %v by %v: %v", c, state, row, e)
 	}
-	return step{v, n, h, s}
+	return s
 }
 
 // literalsOf is all literals that a circuit's things use, one list behind the other.
@@ -50,16 +41,16 @@ func TestValuesAreTheSame(t *testing.T) {
 			for _, row := range samples.AllLists(len(c.Inputs), false, true) {
 				was, is := stepOf(t, c, state, row), stepOf(t, n, state, row)
 				for v, l := range m {
-					if was.values[v] != value(is.values, l) {
+					if was.Values[v] != samples.Value(is.Values, l) {
 						t.Fatalf("%+v: the variable %d, now %d, in %v by %v", c, v, l, state, row)
 					}
 				}
 				for i, l := range used {
-					if value(was.values, l) != value(is.values, uses[i]) {
+					if samples.Value(was.Values, l) != samples.Value(is.Values, uses[i]) {
 						t.Fatalf("%+v: the literal %d, now %d, in %v by %v", c, l, uses[i], state, row)
 					}
 				}
-				if !slices.Equal(was.next, is.next) || was.holds != is.holds || was.starts != is.starts {
+				if !slices.Equal(was.Next, is.Next) || was.Holds != is.Holds || was.Starts != is.Starts {
 					t.Fatalf("%+v in %v by %v: %+v, then %+v", c, state, row, was, is)
 				}
 			}

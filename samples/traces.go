@@ -21,6 +21,24 @@ func AllLists[T any](n int, of ...T) [][]T {
 	return out
 }
 
+// Bits is truths, told as a text of 0 and 1.
+func Bits(s string) []bool {
+	out := make([]bool, len(s))
+	for i := range s {
+		out[i] = s[i] == '1'
+	}
+	return out
+}
+
+// Told is a trace, its first state and its rows told as texts of 0 and 1.
+func Told(loop int, first string, rows ...string) api.Trace {
+	t := api.Trace{Init: Bits(first), Loop: loop}
+	for _, s := range rows {
+		t.Inputs = append(t.Inputs, Bits(s))
+	}
+	return t
+}
+
 // Truths is n truths, each as pick says.
 func Truths(n int, pick func(n int) int) []bool {
 	out := make([]bool, n)

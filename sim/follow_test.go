@@ -72,7 +72,7 @@ func TestLoopsComeRound(t *testing.T) {
 		},
 	}
 	for _, input := range allTruths(6) {
-		tr := api.Trace{Init: bits("00"), Loop: -1}
+		tr := api.Trace{Init: samples.Bits("00"), Loop: -1}
 		count := 0
 		first := map[int]int{}
 		for n, is := range input {

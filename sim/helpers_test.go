@@ -9,20 +9,11 @@ import (
 	"trestle/sim"
 )
 
-// bits is truths, told as a text of 0 and 1.
-func bits(s string) []bool {
-	out := make([]bool, len(s))
-	for i := range s {
-		out[i] = s[i] == '1'
-	}
-	return out
-}
-
 // rows is truths step by step.
 func rows(all ...string) [][]bool {
 	var out [][]bool
 	for _, s := range all {
-		out = append(out, bits(s))
+		out = append(out, samples.Bits(s))
 	}
 	return out
 }

@@ -90,9 +90,9 @@ func asked() ([]api.Circuit, []api.Trace) {
 		circuits = append(circuits, f.Circuit())
 	}
 	return circuits, []api.Trace{
-		{Init: bits("010"), Inputs: rows("01"), Loop: 0}, {Init: bits("111"), Inputs: rows("00", "11", "01"), Loop: -1}, {Inputs: rows("11", "10")},
-		{Inputs: [][]bool{{}}}, {Init: bits("010"), Inputs: rows("01", "1"), Loop: 1}, {Init: bits("010"), Inputs: rows("1"), Loop: -1},
-		{Init: bits("01"), Inputs: rows("01"), Loop: -1}, {Init: bits("010"), Inputs: rows("01"), Loop: 1}, {Init: bits("010"), Loop: -1}, {},
+		{Init: samples.Bits("010"), Inputs: rows("01"), Loop: 0}, {Init: samples.Bits("111"), Inputs: rows("00", "11", "01"), Loop: -1}, {Inputs: rows("11", "10")},
+		{Inputs: [][]bool{{}}}, {Init: samples.Bits("010"), Inputs: rows("01", "1"), Loop: 1}, {Init: samples.Bits("010"), Inputs: rows("1"), Loop: -1},
+		{Init: samples.Bits("01"), Inputs: rows("01"), Loop: -1}, {Init: samples.Bits("010"), Inputs: rows("01"), Loop: 1}, {Init: samples.Bits("010"), Loop: -1}, {},
 	}
 }
 
@@ -132,13 +132,13 @@ func TestMemory(t *testing.T) {
 
 // R4: no two lists of one run share memory, spare room too, also where they tell the same.
 func TestListsOfOneRun(t *testing.T) {
-	row := bits("01")
+	row := samples.Bits("01")
 	circuits, _ := asked()
 	c := samples.Clone(circuits[0])
 	for i, l := range c.Latches {
 		c.Latches[i].Next = l.Lit
 	}
-	tr := api.Trace{Init: bits("101"), Inputs: [][]bool{row, row, row, row}, Loop: -1}
+	tr := api.Trace{Init: samples.Bits("101"), Inputs: [][]bool{row, row, row, row}, Loop: -1}
 	m := run(t, c, tr)
 	for i, x := range m {
 		if !sameMoment(x, m[0]) || len(x.State)*len(x.Bads)*len(x.Fair) == 0 {
@@ -155,18 +155,18 @@ func TestListsOfOneRun(t *testing.T) {
 		}
 	}
 	// Within one moment: places and spots are of other types than truths, and each other's.
-	if !slices.Equal(tr.Init, bits("101")) || !slices.Equal(row, bits("01")) {
+	if !slices.Equal(tr.Init, samples.Bits("101")) || !slices.Equal(row, samples.Bits("01")) {
 		t.Errorf("changed what was handed in: %v, %v", tr.Init, row)
 	}
 }
 
 // R4: a trace whose lists share memory with one another is read as any.
 func TestSharedTrace(t *testing.T) {
-	one := bits("1011")
+	one := samples.Bits("1011")
 	c := samples.Right()
 	tr := api.Trace{Init: one[:3], Inputs: [][]bool{one[:2], one[1:3], one[:2], one[2:]}, Loop: 3}
 	runs(t, c, tr, runOf(c, tr))
-	if !slices.Equal(one, bits("1011")) {
+	if !slices.Equal(one, samples.Bits("1011")) {
 		t.Errorf("changed what was handed in: %v", one)
 	}
 }

@@ -11,8 +11,8 @@ import (
 
 // 7.3: the example of the chapter: the latch that turns, over two steps.
 func TestRunOfTurning(t *testing.T) {
-	want := []api.Moment{{State: bits("0"), Holds: true}, {State: bits("1"), Holds: true, Bads: []int{0}}}
-	runs(t, turning(), api.Trace{Init: bits("0"), Inputs: rows("", ""), Loop: -1}, want)
+	want := []api.Moment{{State: samples.Bits("0"), Holds: true}, {State: samples.Bits("1"), Holds: true, Bads: []int{0}}}
+	runs(t, turning(), api.Trace{Init: samples.Bits("0"), Inputs: rows("", ""), Loop: -1}, want)
 }
 
 // 7.3: a run of a circuit with something of all: several bads, justice properties of no, one and several literals, fairness.
@@ -23,12 +23,12 @@ func TestRunByHand(t *testing.T) {
 		Bads: []int{8, 1, 5, 0, 8}, Constraints: []int{9, 1}, Justice: [][]int{{}, {4, 6, 5}, {9}, {}, {8, 8}}, Fairness: []int{3, 2, 1},
 	}
 	want := []api.Moment{
-		{State: bits("01"), Holds: true, Bads: []int{1, 2}, Fair: []api.Spot{{At: 1, In: 1}, {At: 1, In: 2}, {At: 2}, {At: -1, In: 1}, {At: -1, In: 2}}},
-		{State: bits("10"), Holds: true, Bads: []int{1}, Fair: []api.Spot{{At: 1}, {At: 2}, {At: -1, In: 1}, {At: -1, In: 2}}},
-		{State: bits("11"), Bads: []int{0, 1, 4}, Fair: []api.Spot{{At: 1}, {At: 1, In: 1}, {At: 4}, {At: 4, In: 1}, {At: -1}, {At: -1, In: 2}}},
-		{State: bits("01"), Holds: true, Bads: []int{1, 2}, Fair: []api.Spot{{At: 1, In: 1}, {At: 1, In: 2}, {At: 2}, {At: -1}, {At: -1, In: 2}}},
+		{State: samples.Bits("01"), Holds: true, Bads: []int{1, 2}, Fair: []api.Spot{{At: 1, In: 1}, {At: 1, In: 2}, {At: 2}, {At: -1, In: 1}, {At: -1, In: 2}}},
+		{State: samples.Bits("10"), Holds: true, Bads: []int{1}, Fair: []api.Spot{{At: 1}, {At: 2}, {At: -1, In: 1}, {At: -1, In: 2}}},
+		{State: samples.Bits("11"), Bads: []int{0, 1, 4}, Fair: []api.Spot{{At: 1}, {At: 1, In: 1}, {At: 4}, {At: 4, In: 1}, {At: -1}, {At: -1, In: 2}}},
+		{State: samples.Bits("01"), Holds: true, Bads: []int{1, 2}, Fair: []api.Spot{{At: 1, In: 1}, {At: 1, In: 2}, {At: 2}, {At: -1}, {At: -1, In: 2}}},
 	}
-	tr := api.Trace{Init: bits("01"), Inputs: rows("1", "1", "0", "0"), Loop: -1}
+	tr := api.Trace{Init: samples.Bits("01"), Inputs: rows("1", "1", "0", "0"), Loop: -1}
 	runs(t, c, tr, want)
 	// Of one row; and Loop changes nothing, wherever it goes back, and whether it is closed or not.
 	runs(t, c, api.Trace{Init: tr.Init, Inputs: tr.Inputs[:1]}, want[:1])
@@ -42,14 +42,14 @@ func TestRunByHand(t *testing.T) {
 func TestRunOfWhatMayNotBe(t *testing.T) {
 	c := turning()
 	c.Constraints = []int{3}
-	starts(t, c, bits("1"), false)
-	want := []api.Moment{{State: bits("1"), Bads: []int{0}}, {State: bits("0"), Holds: true}, {State: bits("1"), Bads: []int{0}}}
-	runs(t, c, api.Trace{Init: bits("1"), Inputs: rows("", "", ""), Loop: 1}, want)
+	starts(t, c, samples.Bits("1"), false)
+	want := []api.Moment{{State: samples.Bits("1"), Bads: []int{0}}, {State: samples.Bits("0"), Holds: true}, {State: samples.Bits("1"), Bads: []int{0}}}
+	runs(t, c, api.Trace{Init: samples.Bits("1"), Inputs: rows("", "", ""), Loop: 1}, want)
 	c.Constraints = []int{0}
 	for i := range want {
 		want[i].Holds = false
 	}
-	runs(t, c, api.Trace{Init: bits("1"), Inputs: rows("", "", ""), Loop: 0}, want)
+	runs(t, c, api.Trace{Init: samples.Bits("1"), Inputs: rows("", "", ""), Loop: 0}, want)
 }
 
 // 7.3: a run of as many rows as there may be: what goes in comes out two steps later.
@@ -80,22 +80,22 @@ func TestMostMoments(t *testing.T) {
 	c := turning()
 	c.Bads, c.Fairness, c.Constraints = ones, ones, ones
 	c.Justice = append(slices.Repeat([][]int{nil}, n-2), ones[:n-1], []int{2})
-	want := api.Moment{State: bits("0"), Holds: true}
+	want := api.Moment{State: samples.Bits("0"), Holds: true}
 	for i := range n {
 		want.Bads = append(want.Bads, i)
 	}
 	for i := range n - 1 {
 		want.Fair = append(want.Fair, api.Spot{At: n - 2, In: i})
 	}
-	second := api.Moment{State: bits("1"), Holds: true, Bads: want.Bads, Fair: append(slices.Clone(want.Fair), api.Spot{At: n - 1})}
+	second := api.Moment{State: samples.Bits("1"), Holds: true, Bads: want.Bads, Fair: append(slices.Clone(want.Fair), api.Spot{At: n - 1})}
 	for i := range n {
 		want.Fair = append(want.Fair, api.Spot{At: -1, In: i})
 		second.Fair = append(second.Fair, api.Spot{At: -1, In: i})
 	}
-	runs(t, c, api.Trace{Init: bits("0"), Inputs: rows("", ""), Loop: -1}, []api.Moment{want, second})
+	runs(t, c, api.Trace{Init: samples.Bits("0"), Inputs: rows("", ""), Loop: -1}, []api.Moment{want, second})
 	wide := shifter()
 	state := samples.Truths(len(wide.Latches), rand.New(rand.NewSource(74)).Intn)
-	later := append(bits("1"), state[:len(state)-1]...)
+	later := append(samples.Bits("1"), state[:len(state)-1]...)
 	runs(t, wide, api.Trace{Init: state, Inputs: rows("1", "0")}, []api.Moment{{State: state, Holds: true}, {State: later, Holds: true}})
 }
 

@@ -4,6 +4,7 @@ import (
 	"testing"
 
 	"trestle/api"
+	"trestle/samples"
 )
 
 // 7.2: all states of latches with all resets: 0, 1, and their own literals.
@@ -34,12 +35,12 @@ func TestStarts(t *testing.T) {
 // 7.2: whether a state may begin hangs on resets alone, not on what comes of it.
 func TestStartsAlone(t *testing.T) {
 	c := turning()
-	starts(t, c, bits("0"), true)
-	starts(t, c, bits("1"), false)
+	starts(t, c, samples.Bits("0"), true)
+	starts(t, c, samples.Bits("1"), false)
 	c.Constraints = []int{0, 3, 2}
-	starts(t, c, bits("0"), true)
+	starts(t, c, samples.Bits("0"), true)
 	c.Latches[0] = api.Latch{Lit: 2, Next: 0, Reset: 1}
-	starts(t, c, bits("1"), true)
-	starts(t, c, bits("0"), false)
+	starts(t, c, samples.Bits("1"), true)
+	starts(t, c, samples.Bits("0"), false)
 	starts(t, api.Circuit{Max: 2, Inputs: []int{2, 4}}, nil, true)
 }

@@ -11,15 +11,15 @@ import (
 
 // 7.1: the examples of the chapter, and steps of a circuit whose gates stand ahead of those that they use, and of which some variables are not defined.
 func TestStepsByHand(t *testing.T) {
-	values(t, turning(), bits("0"), nil, bits("00"))
-	next(t, turning(), bits("0"), nil, bits("1"))
-	next(t, turning(), bits("1"), nil, bits("0"))
+	values(t, turning(), samples.Bits("0"), nil, samples.Bits("00"))
+	next(t, turning(), samples.Bits("0"), nil, samples.Bits("1"))
+	next(t, turning(), samples.Bits("1"), nil, samples.Bits("0"))
 	held := api.Circuit{Max: 2, Inputs: []int{2}, Latches: []api.Latch{{Lit: 4, Next: 2}}, Constraints: []int{3}}
 	for _, state := range rows("0", "1") {
-		holds(t, held, state, bits("1"), false)
-		holds(t, held, state, bits("0"), true)
-		next(t, held, state, bits("1"), bits("1"))
-		next(t, held, state, bits("0"), bits("0"))
+		holds(t, held, state, samples.Bits("1"), false)
+		holds(t, held, state, samples.Bits("0"), true)
+		next(t, held, state, samples.Bits("1"), samples.Bits("1"))
+		next(t, held, state, samples.Bits("0"), samples.Bits("0"))
 	}
 	// The inputs are 4 and 1, the latches 3, 7 and 2; 9 is: not 1, and 3; 11: 9 and 9; 10: 11, and not 9; 12: false. 5, 6 and 8 are not defined.
 	for _, x := range []struct{ state, row, values, next string }{
@@ -30,9 +30,9 @@ func TestStepsByHand(t *testing.T) {
 		{"101", "00", "0011000001010", "101"},
 	} {
 		c := samples.Right()
-		values(t, c, bits(x.state), bits(x.row), bits(x.values))
-		next(t, c, bits(x.state), bits(x.row), bits(x.next))
-		holds(t, c, bits(x.state), bits(x.row), false)
+		values(t, c, samples.Bits(x.state), samples.Bits(x.row), samples.Bits(x.values))
+		next(t, c, samples.Bits(x.state), samples.Bits(x.row), samples.Bits(x.next))
+		holds(t, c, samples.Bits(x.state), samples.Bits(x.row), false)
 	}
 }
 
@@ -55,7 +55,7 @@ func TestStepsOfLittle(t *testing.T) {
 	} {
 		inAllSteps(t, c)
 	}
-	values(t, api.Circuit{Max: 3, Ands: []api.And{{Out: 4, Left: 1, Right: 1}}}, nil, nil, bits("0010"))
+	values(t, api.Circuit{Max: 3, Ands: []api.And{{Out: 4, Left: 1, Right: 1}}}, nil, nil, samples.Bits("0010"))
 }
 
 // 7.4: a gate of any two literals, constants too, negated or not, is true where both are; inputs and latches are what they were given.
@@ -63,7 +63,7 @@ func TestGates(t *testing.T) {
 	// In each step of an input 2 and a latch 4 the values of the literals 0 to 5.
 	literals := map[[2]string]string{{"0", "0"}: "010101", {"0", "1"}: "010110", {"1", "0"}: "011001", {"1", "1"}: "011010"}
 	for step, value := range literals {
-		row, state := bits(step[0]), bits(step[1])
+		row, state := samples.Bits(step[0]), samples.Bits(step[1])
 		for left := range value {
 			for right := range value {
 				c := api.Circuit{Max: 3, Inputs: []int{2}, Latches: []api.Latch{{Lit: 4, Next: left}}, Ands: []api.And{{Out: 6, Left: left, Right: right}}, Constraints: []int{right}}
@@ -124,20 +124,20 @@ func TestConstraints(t *testing.T) {
 	}
 	// The same one again, and one with its contrary.
 	c := api.Circuit{Max: 1, Inputs: []int{2}, Constraints: []int{2, 2, 1}}
-	holds(t, c, nil, bits("1"), true)
-	holds(t, c, nil, bits("0"), false)
+	holds(t, c, nil, samples.Bits("1"), true)
+	holds(t, c, nil, samples.Bits("0"), false)
 	c.Constraints = []int{2, 3}
-	holds(t, c, nil, bits("1"), false)
-	holds(t, c, nil, bits("0"), false)
+	holds(t, c, nil, samples.Bits("1"), false)
+	holds(t, c, nil, samples.Bits("0"), false)
 }
 
 // 7.1: rows and states go by the order of the lists, not by the variables.
 func TestOrderOfLists(t *testing.T) {
 	c := api.Circuit{Max: 5, Inputs: []int{8, 2}, Latches: []api.Latch{{Lit: 10, Next: 8}, {Lit: 4, Next: 10}, {Lit: 6, Next: 2}}}
-	values(t, c, bits("100"), bits("10"), bits("000011"))
-	values(t, c, bits("011"), bits("01"), bits("011100"))
-	next(t, c, bits("100"), bits("10"), bits("110"))
-	next(t, c, bits("011"), bits("01"), bits("001"))
+	values(t, c, samples.Bits("100"), samples.Bits("10"), samples.Bits("000011"))
+	values(t, c, samples.Bits("011"), samples.Bits("01"), samples.Bits("011100"))
+	next(t, c, samples.Bits("100"), samples.Bits("10"), samples.Bits("110"))
+	next(t, c, samples.Bits("011"), samples.Bits("01"), samples.Bits("001"))
 	inAllSteps(t, c)
 }
 
@@ -179,8 +179,8 @@ func TestMostThings(t *testing.T) {
 	c := shifter()
 	r := rand.New(rand.NewSource(71))
 	state := samples.Truths(len(c.Latches), r.Intn)
-	values(t, c, state, bits("1"), slices.Concat(bits("01"), state))
-	next(t, c, state, bits("1"), append(bits("1"), state[:len(state)-1]...))
+	values(t, c, state, samples.Bits("1"), slices.Concat(samples.Bits("01"), state))
+	next(t, c, state, samples.Bits("1"), append(samples.Bits("1"), state[:len(state)-1]...))
 	for i := range state {
 		state[i] = i%2 == 1
 	}
@@ -196,7 +196,7 @@ func TestMostThings(t *testing.T) {
 	holds(t, c, nil, row, true)
 	row[api.MaxVar-1] = false
 	holds(t, c, nil, row, false)
-	values(t, c, nil, row, append(bits("0"), row...))
+	values(t, c, nil, row, append(samples.Bits("0"), row...))
 }
 
 // 7.1, 7.2: circuits by chance, in all their steps, do what the document's words say.

@@ -21,31 +21,31 @@ func wrongCounts(n int) []int {
 func TestStepsThatDoNotFit(t *testing.T) {
 	c := samples.Right()
 	for _, n := range wrongCounts(3) {
-		refuse(t, n, stepCalls(c, make([]bool, n), bits("00")), api.ErrShape)
+		refuse(t, n, stepCalls(c, make([]bool, n), samples.Bits("00")), api.ErrShape)
 		refuse(t, n, startCall(c, make([]bool, n)), api.ErrShape)
 		for _, k := range wrongCounts(2) {
 			refuse(t, []int{n, k}, stepCalls(c, make([]bool, n), make([]bool, k)), api.ErrShape)
 		}
 	}
 	for _, k := range wrongCounts(2) {
-		refuse(t, k, stepCalls(c, bits("000"), make([]bool, k)), api.ErrShape)
+		refuse(t, k, stepCalls(c, samples.Bits("000"), make([]bool, k)), api.ErrShape)
 	}
 	// As many as both together, in each other's place.
-	refuse(t, "changed over", stepCalls(c, bits("00"), bits("000")), api.ErrShape)
+	refuse(t, "changed over", stepCalls(c, samples.Bits("00"), samples.Bits("000")), api.ErrShape)
 	refuse(t, "nil", stepCalls(c, nil, nil), api.ErrShape)
 	refuse(t, "nil", startCall(c, nil), api.ErrShape)
 	// Of a circuit of nothing.
-	refuse(t, "one of none", stepCalls(api.Circuit{}, bits("0"), nil), api.ErrShape)
-	refuse(t, "one of none", stepCalls(api.Circuit{}, nil, bits("1")), api.ErrShape)
-	refuse(t, "one of none", startCall(api.Circuit{}, bits("0")), api.ErrShape)
+	refuse(t, "one of none", stepCalls(api.Circuit{}, samples.Bits("0"), nil), api.ErrShape)
+	refuse(t, "one of none", stepCalls(api.Circuit{}, nil, samples.Bits("1")), api.ErrShape)
+	refuse(t, "one of none", startCall(api.Circuit{}, samples.Bits("0")), api.ErrShape)
 	// The chapter's example.
-	refuse(t, "two of one", stepCalls(turning(), bits("00"), nil), api.ErrShape)
-	refuse(t, "two of one", startCall(turning(), bits("00")), api.ErrShape)
+	refuse(t, "two of one", stepCalls(turning(), samples.Bits("00"), nil), api.ErrShape)
+	refuse(t, "two of one", startCall(turning(), samples.Bits("00")), api.ErrShape)
 }
 
 // trace is a trace of n rows that fits the circuit samples.Right.
 func trace(n int) api.Trace {
-	return api.Trace{Init: bits("010"), Inputs: slices.Repeat(rows("01"), n), Loop: -1}
+	return api.Trace{Init: samples.Bits("010"), Inputs: slices.Repeat(rows("01"), n), Loop: -1}
 }
 
 // 7.3: how many rows there may be, and which loops.
@@ -88,19 +88,19 @@ func TestTracesThatDoNotFit(t *testing.T) {
 	tr.Inputs = rows("0", "000")
 	refuse(t, "one too few, one too many", runCall(samples.Right(), tr), api.ErrShape)
 	refuse(t, "nothing", runCall(samples.Right(), api.Trace{}), api.ErrShape)
-	refuse(t, "no rows", runCall(turning(), api.Trace{Init: bits("0"), Loop: -1}), api.ErrShape)
+	refuse(t, "no rows", runCall(turning(), api.Trace{Init: samples.Bits("0"), Loop: -1}), api.ErrShape)
 	refuse(t, "no rows", runCall(api.Circuit{}, api.Trace{Inputs: [][]bool{}, Loop: -1}), api.ErrShape)
-	refuse(t, "Loop behind the last row", runCall(turning(), api.Trace{Init: bits("0"), Inputs: rows(""), Loop: 1}), api.ErrShape)
-	refuse(t, "a truth of no input", runCall(turning(), api.Trace{Init: bits("0"), Inputs: rows("", "0")}), api.ErrShape)
+	refuse(t, "Loop behind the last row", runCall(turning(), api.Trace{Init: samples.Bits("0"), Inputs: rows(""), Loop: 1}), api.ErrShape)
+	refuse(t, "a truth of no input", runCall(turning(), api.Trace{Init: samples.Bits("0"), Inputs: rows("", "0")}), api.ErrShape)
 }
 
 // R1, R2: what is wrong with a circuit is told ahead of what does not fit it.
 func TestCircuitsThatAreWrong(t *testing.T) {
-	wrong := api.Trace{Init: bits("0"), Loop: 7}
+	wrong := api.Trace{Init: samples.Bits("0"), Loop: 7}
 	for _, f := range samples.Faults() {
 		c := f.Circuit()
-		refuse(t, f.Name, slices.Concat(stepCalls(c, bits("000"), bits("00")), startCall(c, bits("000")), runCall(c, trace(2))), f.Want)
-		refuse(t, f.Name, slices.Concat(stepCalls(c, bits("0"), nil), startCall(c, bits("0000")), runCall(c, wrong)), f.Want)
+		refuse(t, f.Name, slices.Concat(stepCalls(c, samples.Bits("000"), samples.Bits("00")), startCall(c, samples.Bits("000")), runCall(c, trace(2))), f.Want)
+		refuse(t, f.Name, slices.Concat(stepCalls(c, samples.Bits("0"), nil), startCall(c, samples.Bits("0000")), runCall(c, wrong)), f.Want)
 	}
 	refuse(t, "Max below 0", stepCalls(api.Circuit{Max: -1}, nil, nil), api.ErrRange)
 	refuse(t, "Max below 0", runCall(api.Circuit{Max: math.MinInt}, api.Trace{}), api.ErrRange)
@@ -114,7 +114,7 @@ func TestCircuitsWithTwoFaults(t *testing.T) {
 		for _, g := range all[i+1:] {
 			c := f.Circuit()
 			g.Do(&c)
-			refuse(t, f.Name+", "+g.Name, slices.Concat(stepCalls(c, bits("000"), bits("0")), startCall(c, nil), runCall(c, trace(0))), f.Want)
+			refuse(t, f.Name+", "+g.Name, slices.Concat(stepCalls(c, samples.Bits("000"), samples.Bits("0")), startCall(c, nil), runCall(c, trace(0))), f.Want)
 		}
 	}
 }
