@@ -7,11 +7,12 @@ import (
 
 	"trestle/api"
 	"trestle/lits"
+	"trestle/samples"
 )
 
 // 1.2, 1.7: the normal form of each short clause: it is the one that the chapter's words say, its own one, and has the clause's value.
 func TestNormalOfShortClauses(t *testing.T) {
-	for _, c := range clauses(3, 4) {
+	for _, c := range samples.Clauses(3, 4) {
 		want, ok := ordered(c, 3)
 		n, e := lits.Normal(c)
 		if !ok {
@@ -26,7 +27,7 @@ func TestNormalOfShortClauses(t *testing.T) {
 		if again, e := lits.Normal(n); e != api.OK || !slices.Equal(again, n) {
 			t.Errorf("Normal(%v) = %v, %v", n, again, e)
 		}
-		for _, m := range models(3) {
+		for _, m := range samples.AllLists(3, false, true) {
 			v, e := lits.Value(c, m)
 			w, f := lits.Value(n, m)
 			if v != w || e != api.OK || f != api.OK {
@@ -126,9 +127,9 @@ func TestWrongClauses(t *testing.T) {
 
 // 1.3: the value of each short clause by each model, clauses that are always true and the empty one too.
 func TestValueOfShortClauses(t *testing.T) {
-	for _, c := range clauses(3, 4) {
-		for _, m := range models(3) {
-			if v, e := lits.Value(c, m); v != truth(c, m) || e != api.OK {
+	for _, c := range samples.Clauses(3, 4) {
+		for _, m := range samples.AllLists(3, false, true) {
+			if v, e := lits.Value(c, m); v != samples.IsTrue(c, m) || e != api.OK {
 				t.Errorf("Value(%v, %v) = %v, %v", c, m, v, e)
 			}
 		}
@@ -184,8 +185,8 @@ func restOf(c api.Clause, assigned []int) (api.Clause, bool, api.Errno) {
 
 // 1.4: what is left of each short clause by each short assignment, right or not.
 func TestRestOfShortClauses(t *testing.T) {
-	for _, c := range clauses(3, 3) {
-		for _, a := range lists(3, 3) {
+	for _, c := range samples.Clauses(3, 3) {
+		for _, a := range samples.Clauses(3, 3) {
 			want, wantTrue, wantE := restOf(c, a)
 			r, ok, e := lits.Rest(c, a)
 			if !slices.Equal(r, want) || ok != wantTrue || e != wantE {
@@ -197,14 +198,14 @@ func TestRestOfShortClauses(t *testing.T) {
 
 // 1.9: what is left has the clause's value by each model that the assignment goes with.
 func TestRestHasTheValue(t *testing.T) {
-	for _, c := range clauses(3, 3) {
-		for _, a := range lists(3, 2) {
+	for _, c := range samples.Clauses(3, 3) {
+		for _, a := range samples.Clauses(3, 2) {
 			r, ok, e := lits.Rest(c, a)
 			if e != api.OK {
 				continue
 			}
-			for _, m := range models(3) {
-				if agrees(a, m) && truth(c, m) != (ok || truth(r, m)) {
+			for _, m := range samples.AllLists(3, false, true) {
+				if agrees(a, m) && samples.IsTrue(c, m) != (ok || samples.IsTrue(r, m)) {
 					t.Fatalf("Rest(%v, %v) = %v, %v has not the value by %v", c, a, r, ok, m)
 				}
 			}

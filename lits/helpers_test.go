@@ -6,63 +6,16 @@ import (
 	"testing"
 
 	"trestle/api"
+	"trestle/samples"
 )
 
 // noLiterals are numbers that are no formula's literals.
 var noLiterals = []int{0, api.MaxCnf + 1, -api.MaxCnf - 1, math.MaxInt, math.MinInt}
 
-// lists is all lists of up to most literals of the variables 1 to vars.
-func lists(vars, most int) [][]int {
-	all := [][]int{nil}
-	for last := all; most > 0; most-- {
-		var longer [][]int
-		for _, l := range last {
-			for v := 1; v <= vars; v++ {
-				longer = append(longer, append(slices.Clone(l), v), append(slices.Clone(l), -v))
-			}
-		}
-		all = append(all, longer...)
-		last = longer
-	}
-	return all
-}
-
-// clauses is lists as clauses.
-func clauses(vars, most int) []api.Clause {
-	var out []api.Clause
-	for _, l := range lists(vars, most) {
-		out = append(out, l)
-	}
-	return out
-}
-
-// models is all models of the variables 1 to vars.
-func models(vars int) [][]bool {
-	var out [][]bool
-	for n := range 1 << vars {
-		m := make([]bool, vars)
-		for i := range m {
-			m[i] = n>>i&1 == 1
-		}
-		out = append(out, m)
-	}
-	return out
-}
-
-// truth is whether a model makes a literal of a list true.
-func truth(l []int, model []bool) bool {
-	return slices.ContainsFunc(l, func(x int) bool {
-		if x < 0 {
-			return !model[-x-1]
-		}
-		return model[x-1]
-	})
-}
-
 // agrees is whether a model makes all literals of a list true.
 func agrees(l []int, model []bool) bool {
 	for _, x := range l {
-		if !truth([]int{x}, model) {
+		if !samples.IsTrue(api.Clause{x}, model) {
 			return false
 		}
 	}

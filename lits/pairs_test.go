@@ -7,6 +7,7 @@ import (
 
 	"trestle/api"
 	"trestle/lits"
+	"trestle/samples"
 )
 
 // pivots are all literals of the variables 1 to 4, and numbers that are none.
@@ -36,7 +37,7 @@ func resolvent(a, b api.Clause, pivot int) (api.Clause, api.Errno) {
 
 // 1.5: each two short clauses by each pivot, with the errors in the chapter's order.
 func TestResolveShortClauses(t *testing.T) {
-	all := clauses(3, 2)
+	all := samples.Clauses(3, 2)
 	all = append(all, api.Clause{1, 2, 3}, api.Clause{-1, -2, -3}, api.Clause{3, 1, 3, -2}, api.Clause{2, -1, 3})
 	for _, a := range all {
 		for _, b := range all {
@@ -52,8 +53,8 @@ func TestResolveShortClauses(t *testing.T) {
 
 // 1.8: a model of two clauses is one of what they come to by a pivot, and of what strengthening leaves.
 func TestWhatFollowsOfTwo(t *testing.T) {
-	for _, a := range clauses(3, 3) {
-		for _, b := range clauses(3, 3) {
+	for _, a := range samples.Clauses(3, 3) {
+		for _, b := range samples.Clauses(3, 3) {
 			var come []api.Clause
 			for _, p := range a {
 				if c, e := lits.Resolve(a, b, p); e == api.OK {
@@ -63,12 +64,12 @@ func TestWhatFollowsOfTwo(t *testing.T) {
 			if c, ok, e := lits.Strengthen(a, b); ok && e == api.OK {
 				come = append(come, c)
 			}
-			for _, m := range models(3) {
-				if !truth(a, m) || !truth(b, m) {
+			for _, m := range samples.AllLists(3, false, true) {
+				if !samples.IsTrue(a, m) || !samples.IsTrue(b, m) {
 					continue
 				}
 				for _, c := range come {
-					if !truth(c, m) {
+					if !samples.IsTrue(c, m) {
 						t.Fatalf("%v makes %v and %v true and not %v", m, a, b, c)
 					}
 				}
@@ -79,13 +80,13 @@ func TestWhatFollowsOfTwo(t *testing.T) {
 
 // 1.8: a clause that subsumes another one is true by no model by which that is false.
 func TestSubsumingIsSound(t *testing.T) {
-	for _, a := range clauses(3, 3) {
-		for _, b := range clauses(3, 3) {
+	for _, a := range samples.Clauses(3, 3) {
+		for _, b := range samples.Clauses(3, 3) {
 			if ok, e := lits.Subsumes(a, b); !ok || e != api.OK {
 				continue
 			}
-			for _, m := range models(3) {
-				if truth(a, m) && !truth(b, m) {
+			for _, m := range samples.AllLists(3, false, true) {
+				if samples.IsTrue(a, m) && !samples.IsTrue(b, m) {
 					t.Fatalf("%v subsumes %v, and %v makes it alone true", a, b, m)
 				}
 			}
@@ -114,8 +115,8 @@ func strengthened(a, b api.Clause) (subsumes bool, left api.Clause, ok bool, e a
 
 // 1.6: each two short clauses.
 func TestSubsumeAndStrengthenShortClauses(t *testing.T) {
-	for _, a := range clauses(3, 3) {
-		for _, b := range clauses(3, 3) {
+	for _, a := range samples.Clauses(3, 3) {
+		for _, b := range samples.Clauses(3, 3) {
 			subsumes, left, ok, e := strengthened(a, b)
 			if s, f := lits.Subsumes(a, b); s != subsumes || f != e {
 				t.Fatalf("Subsumes(%v, %v) = %v, %v, want %v, %v", a, b, s, f, subsumes, e)

@@ -1,4 +1,4 @@
-// Package samples is for the tests of the layers' packages: it makes circuits, right and wrong ones, texts of them, and traces, goes over all of a circuit's steps, and guards the memory of arguments and writes over that of answers.
+// Package samples is for the tests of the layers' packages: it makes circuits, right and wrong ones, texts of them, traces, and formulas, goes over all of a circuit's steps and of a formula's models, and guards the memory of arguments and writes over that of answers.
 package samples
 
 import "trestle/api"
