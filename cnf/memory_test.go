@@ -122,21 +122,6 @@ func TestMemoryOfJoin(t *testing.T) {
 	}
 }
 
-// apart holds that no two clauses of a formula share memory, spare room too.
-func apart(t *testing.T, f api.Cnf) {
-	t.Helper()
-	for i, c := range f.Clauses {
-		samples.Fill(c, 100+i)
-	}
-	for i, c := range f.Clauses {
-		for _, x := range c[:cap(c)] {
-			if x != 100+i {
-				t.Fatalf("clause %d of %d has what was written into %d", i, len(f.Clauses), x-100)
-			}
-		}
-	}
-}
-
 // R4: no two clauses of one answer share memory, spare room too, also where those that were handed in do, or lie one behind the other.
 func TestClausesOfOneAnswer(t *testing.T) {
 	numbers := []int{1, 2, -3, 1, 2, 3, -1}
@@ -146,7 +131,9 @@ func TestClausesOfOneAnswer(t *testing.T) {
 	if !samples.SameFormula(f, want) || e != api.OK {
 		t.Fatalf("%+v, %v", f, e)
 	}
-	apart(t, f)
+	if !samples.Apart(f) {
+		t.Errorf("clauses share memory: %+v", f)
+	}
 	if !slices.Equal(numbers, []int{1, 2, -3, 1, 2, 3, -1}) {
 		t.Errorf("changed what was handed in: %v", numbers)
 	}
@@ -156,7 +143,9 @@ func TestClausesOfOneAnswer(t *testing.T) {
 	s := "p cnf 3 9\n1 0 1 2 0 0 1 2 3 0 1 2 3 1 0 0 1 2 3 1 2 0 1 2 3 1 2 3 0 -1 0"
 	f, _ = cnf.Parse(s)
 	again, _ := cnf.Parse(s)
-	apart(t, f)
+	if !samples.Apart(f) {
+		t.Errorf("clauses share memory: %+v", f)
+	}
 	want, _ = parseOf(s)
 	if !samples.SameFormula(again, want) {
 		t.Errorf("two answers share memory: %+v", again)

@@ -295,7 +295,7 @@ func TestSupportIsClosed(t *testing.T) {
 	r := rand.New(rand.NewSource(116))
 	for range 1500 {
 		c := samples.Circuit(r.Intn)
-		lits := anyLits(c, r.Intn)
+		lits := samples.SomeLiterals(c, r.Intn)
 		on, _ := cone.Support(c, lits)
 		var all []int
 		for v, is := range on {

@@ -102,15 +102,6 @@ func example() api.Circuit {
 	}
 }
 
-// upTo is the literals of a circuit of that greatest variable.
-func upTo(most int) []int {
-	var all []int
-	for l := range 2*most + 2 {
-		all = append(all, l)
-	}
-	return all
-}
-
 // brief is something as it can be told, if it is too long.
 func brief(x ...any) string {
 	s := fmt.Sprintf("%+v", x)

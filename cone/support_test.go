@@ -107,19 +107,10 @@ func TestSupportOfTwoGates(t *testing.T) {
 			for l := range 10 {
 				asWords(t, some("Support", "Inputs"), c, given{lits: []int{l}})
 			}
-			asWords(t, some("Support", "Inputs"), c, given{lits: upTo(4)})
+			asWords(t, some("Support", "Inputs"), c, given{lits: samples.AllLiterals(c)})
 			slices.Reverse(c.Ands)
 		}
 	}
-}
-
-// anyLits is a few literals of a circuit.
-func anyLits(c api.Circuit, pick func(n int) int) []int {
-	out := make([]int, pick(5))
-	for i := range out {
-		out[i] = pick(2*c.Max + 2)
-	}
-	return out
 }
 
 // 10.1: circuits by chance, each literal, and some together.
@@ -131,7 +122,7 @@ func TestSupportByChance(t *testing.T) {
 			asWords(t, some("Support", "Inputs"), c, given{lits: []int{l}})
 		}
 		for range 5 {
-			asWords(t, some("Support", "Inputs"), c, given{lits: anyLits(c, r.Intn)})
+			asWords(t, some("Support", "Inputs"), c, given{lits: samples.SomeLiterals(c, r.Intn)})
 		}
 	}
 }
@@ -149,7 +140,7 @@ func TestWhatIsNotNamed(t *testing.T) {
 			bare.Ands[i].Left, bare.Ands[i].Right = g.Right^1, g.Left
 		}
 		slices.Reverse(bare.Ands)
-		g := given{lits: anyLits(c, r.Intn)}
+		g := given{lits: samples.SomeLiterals(c, r.Intn)}
 		for _, x := range some("Support", "Inputs") {
 			if was, is := x.of(c, g), x.of(bare, g); !was.same(is) {
 				t.Fatalf("%s of %v of %+v: %+v, of %+v: %+v", x.name, g.lits, c, was, bare, is)

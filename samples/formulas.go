@@ -96,3 +96,16 @@ func SpoilFormula(f api.Cnf) {
 	}
 	Fill(f.Clauses, api.Clause{spoilt})
 }
+
+// Apart tells whether no two clauses of a formula share memory, spare room too. It writes over all of them.
+func Apart(f api.Cnf) bool {
+	for i, c := range f.Clauses {
+		Fill(c, i)
+	}
+	for i, c := range f.Clauses {
+		if slices.ContainsFunc(c[:cap(c)], func(x int) bool { return x != i }) {
+			return false
+		}
+	}
+	return true
+}

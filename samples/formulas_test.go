@@ -113,3 +113,22 @@ func TestGuardedFormula(t *testing.T) {
 		t.Errorf("changed: %+v", f)
 	}
 }
+
+// Clauses that share members, or spare room, are not apart; those of a guarded copy are.
+func TestApart(t *testing.T) {
+	numbers := []int{1, 2, 3, 4}
+	for _, shared := range [][]api.Clause{{numbers[:2], numbers[1:]}, {numbers[:2:2], numbers[2:], numbers[3:]}, {numbers[:2], numbers[2:]}, {numbers[:0], numbers[2:]}, {numbers[3:], numbers[:0]}} {
+		f := api.Cnf{Vars: 4, Clauses: shared}
+		if g := samples.GuardedFormula(f, 98); !samples.Apart(g) {
+			t.Errorf("%+v shares nothing", g)
+		}
+		if samples.Apart(f) {
+			t.Errorf("%+v is shared", f)
+		}
+	}
+	for _, f := range []api.Cnf{{}, {Vars: 1, Clauses: []api.Clause{nil, {}, {1}}}, {Vars: 4, Clauses: []api.Clause{numbers[:2:2], numbers[2:]}}} {
+		if !samples.Apart(f) {
+			t.Errorf("%+v shares nothing", f)
+		}
+	}
+}

@@ -51,6 +51,24 @@ func TwoGates() []api.Circuit {
 	return all
 }
 
+// AllLiterals is all literals of a circuit, rising.
+func AllLiterals(c api.Circuit) []int {
+	all := []int{0, 1}
+	for _, l := range literals(c.Max) {
+		all = append(all, l, l+1)
+	}
+	return all
+}
+
+// SomeLiterals is a few literals of a circuit, or none; one may stand there twice.
+func SomeLiterals(c api.Circuit, pick func(n int) int) []int {
+	out := make([]int, pick(5))
+	for i := range out {
+		out[i] = pick(2*c.Max + 2)
+	}
+	return out
+}
+
 // maker makes a circuit's parts.
 type maker struct {
 	pick  func(n int) int

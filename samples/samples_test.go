@@ -2,6 +2,7 @@ package samples_test
 
 import (
 	"math/rand"
+	"slices"
 	"strings"
 	"testing"
 
@@ -57,6 +58,40 @@ func TestTwoGates(t *testing.T) {
 	}
 	if len(all) != 8*8*6*6 || len(seen) != len(all) || use != (8*8-6*6)*6*6 {
 		t.Errorf("%d circuits, %d unlike, %d in which the first gate uses the second one", len(all), len(seen), use)
+	}
+}
+
+// All literals are those that there may be, each once; some of them, by chance, may be all of them, and none.
+func TestLiterals(t *testing.T) {
+	if all := samples.AllLiterals(api.Circuit{}); !slices.Equal(all, []int{0, 1}) {
+		t.Errorf("%v", all)
+	}
+	c := api.Circuit{Max: 2}
+	all := samples.AllLiterals(c)
+	if !slices.Equal(all, []int{0, 1, 2, 3, 4, 5}) {
+		t.Errorf("%v", all)
+	}
+	r := rand.New(rand.NewSource(11))
+	counts, times := map[int]int{}, map[int]int{}
+	for range 600 {
+		some := samples.SomeLiterals(c, r.Intn)
+		counts[len(some)]++
+		for _, l := range some {
+			times[l]++
+		}
+	}
+	for n := range 5 {
+		if counts[n] < 60 {
+			t.Errorf("%d literals but %d times", n, counts[n])
+		}
+	}
+	for _, l := range all {
+		if times[l] < 100 {
+			t.Errorf("the literal %d but %d times", l, times[l])
+		}
+	}
+	if len(counts) != 5 || len(times) != 6 {
+		t.Errorf("%v, %v", counts, times)
 	}
 }
 
