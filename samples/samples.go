@@ -1,7 +1,10 @@
 // Package samples is for the tests of the layers' packages: it makes circuits, right and wrong ones, texts of them, traces, and formulas, goes over all of a circuit's steps and of a formula's models, and guards the memory of arguments and writes over that of answers.
 package samples
 
-import "trestle/api"
+import (
+	"trestle/api"
+	"trestle/shape"
+)
 
 // The least bytes of names and of comments here.
 const (
@@ -47,6 +50,42 @@ func TwoGates() []api.Circuit {
 				Ands: []api.And{{Out: 6, Left: first[0], Right: first[1]}, {Out: 8, Left: second[0], Right: second[1]}},
 			})
 		}
+	}
+	return all
+}
+
+// TwoVariables is all right circuits of two variables, each of which is an input, a latch, a gate, or nothing, with one constraint or none; of the two the second one stands first in the lists.
+func TwoVariables() []api.Circuit {
+	var all []api.Circuit
+	for _, first := range defining(4) {
+		for _, second := range defining(2) {
+			for limit := -1; limit <= 5; limit++ {
+				c := api.Circuit{Max: 2}
+				first(&c)
+				second(&c)
+				if limit >= 0 {
+					c.Constraints = []int{limit}
+				}
+				if _, e := shape.Check(c); e == api.OK {
+					all = append(all, c)
+				}
+			}
+		}
+	}
+	return all
+}
+
+// defining is what puts a literal into a circuit of two variables as anything that it may be, right or not.
+func defining(l int) []func(c *api.Circuit) {
+	all := []func(c *api.Circuit){
+		func(*api.Circuit) {},
+		func(c *api.Circuit) { c.Inputs = append(c.Inputs, l) },
+	}
+	for _, two := range AllLists(2, 0, 1, 2, 3, 4, 5) {
+		if reset := two[1]; reset <= 1 || reset == l {
+			all = append(all, func(c *api.Circuit) { c.Latches = append(c.Latches, api.Latch{Lit: l, Next: two[0], Reset: reset}) })
+		}
+		all = append(all, func(c *api.Circuit) { c.Ands = append(c.Ands, api.And{Out: l, Left: two[0], Right: two[1]}) })
 	}
 	return all
 }

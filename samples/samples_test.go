@@ -9,6 +9,7 @@ import (
 	"trestle/api"
 	"trestle/ascii"
 	"trestle/binary"
+	"trestle/print"
 	"trestle/samples"
 	"trestle/shape"
 	"trestle/words"
@@ -58,6 +59,42 @@ func TestTwoGates(t *testing.T) {
 	}
 	if len(all) != 8*8*6*6 || len(seen) != len(all) || use != (8*8-6*6)*6*6 {
 		t.Errorf("%d circuits, %d unlike, %d in which the first gate uses the second one", len(all), len(seen), use)
+	}
+}
+
+// All circuits of two variables are right, and unlike; of each kind there are as many as there may be.
+func TestTwoVariables(t *testing.T) {
+	type kind struct{ inputs, latches, gates int }
+	seen, bare, limited := map[string]int{}, map[kind]int{}, map[kind]int{}
+	all := samples.TwoVariables()
+	for _, c := range all {
+		if at, e := shape.Check(c); e != api.OK || c.Max != 2 {
+			t.Fatalf("%+v: %d, %v", c, at, e)
+		}
+		text, e := print.Text(c)
+		if e != api.OK {
+			t.Fatalf("%+v: %v", c, e)
+		}
+		seen[text]++
+		k := kind{len(c.Inputs), len(c.Latches), len(c.Ands)}
+		if len(c.Constraints) == 0 {
+			bare[k]++
+		} else {
+			limited[k]++
+		}
+	}
+	// One that stands alone can be either variable; of two gates not both may use the other one.
+	want := map[kind]int{
+		{0, 0, 0}: 1, {1, 0, 0}: 2, {0, 1, 0}: 2 * 4 * 3, {0, 0, 1}: 2 * 2 * 2,
+		{2, 0, 0}: 1, {1, 1, 0}: 2 * 6 * 3, {1, 0, 1}: 2 * 4 * 4, {0, 2, 0}: 6 * 3 * 6 * 3, {0, 1, 1}: 2 * 6 * 3 * 4 * 4, {0, 0, 2}: 16*16 - 12*12,
+	}
+	for k, n := range want {
+		if literals := 2 + 2*(k.inputs+k.latches+k.gates); bare[k] != n || limited[k] != n*literals {
+			t.Errorf("%+v: %d without constraints, %d with one, want %d, %d", k, bare[k], limited[k], n, n*literals)
+		}
+	}
+	if len(seen) != len(all) || len(bare) != len(want) || len(limited) != len(want) {
+		t.Errorf("%d circuits, %d unlike, %d and %d kinds", len(all), len(seen), len(bare), len(limited))
 	}
 }
 
